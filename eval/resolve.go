@@ -1,6 +1,9 @@
 package eval
 
-import "counterproof/api"
+import (
+	"counterproof/api"
+	"counterproof/words"
+)
 
 // A program is run in a form in which names are places: looking names up at each step would take most of a run's time.
 
@@ -10,34 +13,35 @@ type routine struct {
 	body []order
 }
 
-// order is a statement: at is the place of its variable, or of its array's first word, size that array's.
+// order is a statement: at is the place of its variable, array where its array stands.
 type order struct {
-	kind, at, size int
-	args           []node
-	then, other    []order
+	kind, at    int
+	array       words.Span
+	args        []node
+	then, other []order
 }
 
-// node is an expression: at is the place of its variable, function, or array's first word; n its number, or its array's size.
+// node is an expression: at is the place of its variable, or function, array where its array stands.
 type node struct {
 	kind, op, n, at int
+	array           words.Span
 	args            []node
 }
 
-// span is where an array's words stand.
-type span struct{ base, size int }
-
 type resolver struct {
-	arrays      map[string]span
+	arrays      map[string]words.Span
 	funcs, vars map[string]int
 }
 
 // resolve is the form of a program that has no wrong name.
 func resolve(p api.Prog) []routine {
-	x := &resolver{arrays: map[string]span{}, funcs: map[string]int{}}
-	base := 0
-	for _, a := range p.Arrays {
-		x.arrays[a.Name] = span{base, a.Size}
-		base += a.Size
+	x := &resolver{arrays: map[string]words.Span{}, funcs: map[string]int{}}
+	sizes := make([]int, len(p.Arrays))
+	for i, a := range p.Arrays {
+		sizes[i] = a.Size
+	}
+	for i, s := range words.Spans(sizes) {
+		x.arrays[p.Arrays[i].Name] = s
 	}
 	for i, f := range p.Funcs {
 		x.funcs[f.Name] = i
@@ -64,8 +68,7 @@ func (x *resolver) list(list []api.Stmt) []order {
 		case api.StmtSet:
 			out[i].at = x.vars[s.Name]
 		case api.StmtStore:
-			a := x.arrays[s.Name]
-			out[i].at, out[i].size = a.base, a.size
+			out[i].array = x.arrays[s.Name]
 		}
 	}
 	return out
@@ -81,31 +84,8 @@ func (x *resolver) exprs(list []api.Expr) []node {
 		case api.ExprCall:
 			out[i].at = x.funcs[e.Name]
 		case api.ExprIndex:
-			a := x.arrays[e.Name]
-			out[i].at, out[i].n = a.base, a.size
+			out[i].array = x.arrays[e.Name]
 		}
 	}
 	return out
-}
-
-// memory keeps words in pages, of which there are those that were written into: arrays may have far more words than a run ever touches.
-type memory map[int]*page
-
-type page [512]int
-
-func (m memory) get(at int) int {
-	p := m[at/len(page{})]
-	if p == nil {
-		return 0
-	}
-	return p[at%len(page{})]
-}
-
-func (m memory) put(at, v int) {
-	p := m[at/len(page{})]
-	if p == nil {
-		p = &page{}
-		m[at/len(page{})] = p
-	}
-	p[at%len(page{})] = v
 }
