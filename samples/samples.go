@@ -2,6 +2,7 @@
 package samples
 
 import (
+	"slices"
 	"strconv"
 
 	"counterproof/api"
@@ -216,4 +217,12 @@ func Var(name string) api.Expr { return api.Expr{Kind: api.ExprVar, Name: name} 
 
 func Two(op int, a, b api.Expr) api.Expr {
 	return api.Expr{Kind: api.ExprTwo, Op: op, Args: []api.Expr{a, b}}
+}
+
+// Keeps tells whether a run that had steps enough keeps to another one: tells what it told, and ends as it ended, if it did.
+func Keeps(a, b api.Run) bool {
+	if a.Status != api.StatGoing {
+		return a.Status == b.Status && a.Code == b.Code && slices.Equal(a.Out, b.Out)
+	}
+	return len(a.Out) <= len(b.Out) && slices.Equal(a.Out, b.Out[:len(a.Out)])
 }
