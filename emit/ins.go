@@ -26,10 +26,10 @@ func (w *writer) get(r, v int) {
 }
 
 // source is the register in which a value's number is to be found, its own, or one for a moment.
-func (w *writer) source(v, moment int) int {
+func (w *writer) source(v, other int) int {
 	if at, ok := w.slot(v); ok {
-		w.restore(moment, at)
-		return moment
+		w.restore(other, at)
+		return other
 	}
 	return Register(w.places[v])
 }
@@ -37,14 +37,14 @@ func (w *writer) source(v, moment int) int {
 // target is the register that is to be set for a value; settle is called behind that.
 func (w *writer) target(v int) int {
 	if _, ok := w.slot(v); ok {
-		return first
+		return moment
 	}
 	return Register(w.places[v])
 }
 
 func (w *writer) settle(v int) {
 	if at, ok := w.slot(v); ok {
-		w.save(first, at)
+		w.save(moment, at)
 	}
 }
 
@@ -63,10 +63,10 @@ func (w *writer) ins(x api.Ins) {
 		w.call(x.Name)
 		w.put(x.D, result)
 	case api.InsMove:
-		w.put(x.D, w.source(x.A, first))
+		w.put(x.D, w.source(x.A, moment))
 	case api.InsStore:
 		w.address(x)
-		w.three(api.InSd, zero, first, w.source(x.B, second))
+		w.three(api.InSd, zero, moment, w.source(x.B, second))
 	default:
 		w.reckon(x, w.target(x.D))
 		w.settle(x.D)
@@ -79,26 +79,26 @@ func (w *writer) reckon(x api.Ins, d int) {
 	case api.InsNum:
 		w.li(d, x.N)
 	case api.InsOne:
-		w.one(x.Op, d, w.source(x.A, first))
+		w.one(x.Op, d, w.source(x.A, moment))
 	case api.InsTwo:
-		a := w.source(x.A, first)
+		a := w.source(x.A, moment)
 		w.two(x.Op, d, a, w.source(x.B, second))
 	case api.InsLoad:
 		w.address(x)
-		w.add(api.Instr{Op: api.InLd, D: d, A: first})
+		w.add(api.Instr{Op: api.InLd, D: d, A: moment})
 	}
 }
 
 // address is where an array's word stands, which must be there.
 func (w *writer) address(x api.Ins) {
-	a := w.source(x.A, first)
+	a := w.source(x.A, moment)
 	w.li(second, w.sizes[x.Name])
 	w.three(api.InSltu, second, a, second)
 	w.branch(api.InBeq, second, zero, beyond)
 	w.li(second, 3)
-	w.three(api.InSll, first, a, second)
+	w.three(api.InSll, moment, a, second)
 	w.add(api.Instr{Op: api.InLa, D: second, Name: x.Name})
-	w.three(api.InAdd, first, first, second)
+	w.three(api.InAdd, moment, moment, second)
 }
 
 func (w *writer) one(op, d, a int) {
@@ -171,7 +171,7 @@ func (w *writer) end(t api.Term) {
 	case api.TermJump:
 		w.jump(w.blocks[t.To])
 	case api.TermIf:
-		w.branch(api.InBne, w.source(t.A, first), zero, w.blocks[t.To])
+		w.branch(api.InBne, w.source(t.A, moment), zero, w.blocks[t.To])
 		w.jump(w.blocks[t.Else])
 	case api.TermReturn:
 		w.get(result, t.A)
