@@ -150,6 +150,15 @@ func TestBadlyBehaved(t *testing.T) { // V4
 		list = append(list, "j m; jal m; ecall; jal m; m: ; li x1, "+strconv.Itoa(at)+"; ret; jal m", "li x1, "+strconv.Itoa(at)+"; ret", "jal m; m: ; li x10, 4; li x17, 1; ecall; li x1, "+strconv.Itoa(at)+"; ret")
 	}
 	list = append(list, "", "a: ; b:", "ret", "ld x0, 0(x0)", "j e; e:", "jal e; e:", "e: ; jal e", "a: ; j a", "a: ; li x0, 1; mv x5, x5; add x0, x0, x0; j a", "ecall", "li x5, 1", "mv x10, x2; li x17, 3; ecall", ".array a 3; .array b 4; la x10, b; la x0, a; li x17, 3; ecall", "li x17, 4; li x10, 4; ecall", "f: ; addi x2, x2, -8; sd x1, 0(x2); jal f")
+	for _, between := range []string{"addi x17, x17, 1", "mv x17, x0", "ld x17, -8(x2)", "la x17, w", "seqz x17, x17", "li x17, 4", "li x5, 4", "l: ; li x6, 2", "jal l; l: ", "add x17, x0, x17", "li x17, -1", "bne x9, x0, e; li x9, 1; li x17, 2; j k; k: ", "blt x9, x0, e; addi x17, x17, 1; e: "} {
+		for k := 1; k <= 5; k++ {
+			text := ".array w 1; li x10, 4; li x17, " + strconv.Itoa(k) + "; " + between + "; ecall; ecall; mv x17, x9; ecall; "
+			if !strings.Contains(between, "e: ") {
+				text += "e: ; li x17, 1; ecall"
+			}
+			list = append(list, text)
+		}
+	}
 	for _, text := range list {
 		c := get(t, text)
 		both(t, text, c, []int{6}, 0, 1, 2, 3, 4, 5, 6, 7, 8, 9, 20, 300)

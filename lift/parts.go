@@ -21,6 +21,13 @@ func leave(e api.Expr) api.Stmt { return api.Stmt{Kind: api.StmtReturn, Args: []
 
 func trap(e api.Expr) api.Stmt { return api.Stmt{Kind: api.StmtTrap, Args: []api.Expr{e}} }
 
+func tell(e api.Expr) api.Stmt { return api.Stmt{Kind: api.StmtPrint, Args: []api.Expr{e}} }
+
+// onward goes on with the next block.
+func onward(e api.Expr) []api.Stmt {
+	return do(set(next, e), api.Stmt{Kind: api.StmtContinue})
+}
+
 // fault is a trap that stands for the machine's.
 func fault() api.Stmt { return trap(num(api.FaultCode)) }
 
@@ -55,11 +62,15 @@ func call(helper string, with ...api.Expr) api.Expr {
 const (
 	left  = "a"
 	right = "b"
+	third = "c"
 )
 
 // helpers are the functions that are called, in an order of their own.
 func (l *lifter) helpers() []api.Func {
+	sum := func() api.Expr { return two(api.OpAdd, name(left), name(right)) }
 	all := []api.Func{
+		{Name: fetch, Params: []string{left, right}, Body: do(leave(index(call(place, sum()))))},
+		{Name: stow, Params: []string{left, right, third}, Body: do(store(call(place, sum()), name(third)))},
 		{Name: place, Params: []string{left}, Body: l.placeBody()},
 		{Name: quotient, Params: []string{left, right}, Body: do(
 			either(name(right), do(leave(two(api.OpDiv, name(left), name(right)))), nil),
@@ -70,6 +81,9 @@ func (l *lifter) helpers() []api.Func {
 		{Name: system, Params: []string{left, right}, Body: l.systemBody()},
 		{Name: deep, Body: do(leave(call(deep)))},
 		{Name: land, Params: []string{left}, Body: append(l.landBody(l.landings), fault())},
+	}
+	if l.calls(fetch) || l.calls(stow) {
+		l.wants[place] = struct{}{}
 	}
 	if l.calls(system) {
 		l.wants[deep] = struct{}{}
@@ -107,7 +121,7 @@ func (l *lifter) systemBody() []api.Stmt {
 		return either(two(api.OpEq, name(param), num(n)), do(list...), nil)
 	}
 	return do(
-		on(left, api.CallPrint, api.Stmt{Kind: api.StmtPrint, Args: []api.Expr{name(right)}}, leave(name(right))),
+		on(left, api.CallPrint, tell(name(right)), leave(name(right))),
 		on(left, api.CallRead, leave(api.Expr{Kind: api.ExprRead})),
 		on(left, api.CallEnd,
 			on(right, api.StatDiv, leave(two(api.OpDiv, num(1), num(0)))),
