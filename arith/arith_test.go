@@ -1,10 +1,11 @@
-package arith
+package arith_test
 
 import (
 	"math/big"
 	"testing"
 
 	"counterproof/api"
+	"counterproof/arith"
 )
 
 const least, most = -1 << 63, 1<<63 - 1
@@ -43,7 +44,7 @@ func TestTwoAgainstBigNumbers(t *testing.T) { // A1
 				want[api.OpDiv], want[api.OpRem] = cut(new(big.Int).Quo(x, y)), cut(new(big.Int).Rem(x, y))
 			}
 			for op, w := range want {
-				if n, ok := Two(op, a, b); n != w || !ok {
+				if n, ok := arith.Two(op, a, b); n != w || !ok {
 					t.Fatalf("Two(%d, %d, %d): %d %v, not %d", op, a, b, n, ok, w)
 				}
 			}
@@ -60,13 +61,13 @@ func bit(b bool) int {
 
 func TestTwoOfNothing(t *testing.T) { // A1, wrong inputs
 	for _, op := range []int{0, -1, api.OpNeg, api.OpNot, api.OpInv, 20, most, least} {
-		if n, ok := Two(op, 5, 3); n != 0 || ok {
+		if n, ok := arith.Two(op, 5, 3); n != 0 || ok {
 			t.Error(op, n, ok)
 		}
 	}
 	for _, op := range []int{api.OpDiv, api.OpRem} {
 		for _, a := range edges() {
-			if n, ok := Two(op, a, 0); n != 0 || ok {
+			if n, ok := arith.Two(op, a, 0); n != 0 || ok {
 				t.Error(op, a, n, ok)
 			}
 		}
@@ -76,13 +77,13 @@ func TestTwoOfNothing(t *testing.T) { // A1, wrong inputs
 func TestOne(t *testing.T) { // A1
 	for _, a := range edges() {
 		for op, w := range map[int]int{api.OpNeg: 0 - a, api.OpNot: bit(a == 0), api.OpInv: -a - 1} {
-			if n, ok := One(op, a); n != w || !ok {
+			if n, ok := arith.One(op, a); n != w || !ok {
 				t.Error(op, a, n, ok)
 			}
 		}
 	}
 	for op := -2; op < 30; op++ {
-		if n, ok := One(op, 5); ok != (op >= api.OpNeg && op <= api.OpInv) || !ok && n != 0 {
+		if n, ok := arith.One(op, 5); ok != (op >= api.OpNeg && op <= api.OpInv) || !ok && n != 0 {
 			t.Error(op, n, ok)
 		}
 	}
@@ -90,23 +91,23 @@ func TestOne(t *testing.T) { // A1
 
 func TestMachine(t *testing.T) { // A2
 	for _, a := range edges() {
-		if Div(a, 0) != -1 || Rem(a, 0) != a {
+		if arith.Div(a, 0) != -1 || arith.Rem(a, 0) != a {
 			t.Error(a)
 		}
 		for _, b := range edges() {
-			if Less(a, b) != (uint64(a) < uint64(b)) {
+			if arith.Less(a, b) != (uint64(a) < uint64(b)) {
 				t.Error(a, b)
 			}
 			if b != 0 {
-				q, _ := Two(api.OpDiv, a, b)
-				r, _ := Two(api.OpRem, a, b)
-				if Div(a, b) != q || Rem(a, b) != r {
+				q, _ := arith.Two(api.OpDiv, a, b)
+				r, _ := arith.Two(api.OpRem, a, b)
+				if arith.Div(a, b) != q || arith.Rem(a, b) != r {
 					t.Error(a, b)
 				}
 			}
 		}
 	}
-	if Div(least, -1) != least || Rem(least, -1) != 0 {
+	if arith.Div(least, -1) != least || arith.Rem(least, -1) != 0 {
 		t.Error("least")
 	}
 }
@@ -115,13 +116,13 @@ func TestSignAndLevel(t *testing.T) { // A3
 	signs := []string{"", "+", "-", "*", "/", "%", "&", "|", "^", "<<", ">>", "<", "<=", ">", ">=", "==", "!=", "-", "!", "~", ""}
 	levels := []int{0, 7, 7, 8, 8, 8, 3, 1, 2, 6, 6, 5, 5, 5, 5, 4, 4, 0, 0, 0, 0}
 	for op := range signs {
-		s, ok := Sign(op)
-		if s != signs[op] || ok != (s != "") || Level(op) != levels[op] {
-			t.Error(op, s, ok, Level(op))
+		s, ok := arith.Sign(op)
+		if s != signs[op] || ok != (s != "") || arith.Level(op) != levels[op] {
+			t.Error(op, s, ok, arith.Level(op))
 		}
 	}
 	for _, op := range []int{-1, 21, most, least} {
-		if s, ok := Sign(op); s != "" || ok || Level(op) != 0 {
+		if s, ok := arith.Sign(op); s != "" || ok || arith.Level(op) != 0 {
 			t.Error(op, s, ok)
 		}
 	}
@@ -137,16 +138,16 @@ func magnitude(a int) uint64 {
 func TestTheorem(t *testing.T) { // A4
 	for _, a := range edges() {
 		for _, b := range edges() {
-			if Div(a, b)*b+Rem(a, b) != a || b != 0 && magnitude(Rem(a, b)) >= magnitude(b) {
+			if arith.Div(a, b)*b+arith.Rem(a, b) != a || b != 0 && magnitude(arith.Rem(a, b)) >= magnitude(b) {
 				t.Error(a, b)
 			}
-			up, _ := Two(api.OpShl, a, b)
-			if back, _ := Two(api.OpShr, up, b); up>>uint(b&63) == a && back != a {
+			up, _ := arith.Two(api.OpShl, a, b)
+			if back, _ := arith.Two(api.OpShr, up, b); up>>uint(b&63) == a && back != a {
 				t.Error(a, b)
 			}
-			lt, _ := Two(api.OpLt, a, b)
-			eq, _ := Two(api.OpEq, a, b)
-			gt, _ := Two(api.OpGt, a, b)
+			lt, _ := arith.Two(api.OpLt, a, b)
+			eq, _ := arith.Two(api.OpEq, a, b)
+			gt, _ := arith.Two(api.OpGt, a, b)
 			if lt+eq+gt != 1 {
 				t.Error(a, b)
 			}

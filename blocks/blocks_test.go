@@ -1,4 +1,4 @@
-package blocks
+package blocks_test
 
 import (
 	"reflect"
@@ -8,6 +8,7 @@ import (
 
 	"counterproof/api"
 	"counterproof/asm"
+	"counterproof/blocks"
 	"counterproof/mach"
 	"counterproof/samples"
 )
@@ -39,25 +40,25 @@ func TestBlocks(t *testing.T) { // B1, B2, B3
 		{"a: ; beq x0, x0, b; b: ; blt x0, x0, a; bge x0, x0, c; c:", [][2]int{{0, 1}, {1, 2}, {2, 3}}, [][]int{{1}, {0, 2}, {3}}, nil},
 		{"jal f; ecall; f: ; ret", [][2]int{{0, 1}, {1, 2}, {2, 3}}, [][]int{{2}, {2}, {1}}, []int{1}},
 		{"f: ; ret; jal f; ret; jal f; jal f", [][2]int{{0, 1}, {1, 2}, {2, 3}, {3, 4}, {4, 5}}, [][]int{{2, 4, 5}, {0}, {2, 4, 5}, {0}, {0}}, []int{2, 4, 5}},
-		{".array a 1; la x5, a; a: ; ecall; bne x1, x2, z; z: ; y: ; ecall", [][2]int{{0, 3}, {3, 4}}, [][]int{{1}, {2}}, nil},
+		{".array a 1; la x5, a; b: ; ecall; bne x1, x2, z; z: ; y: ; ecall", [][2]int{{0, 3}, {3, 4}}, [][]int{{1}, {2}}, nil},
 	} {
 		c := get(t, x.text)
-		s, n, l := Split(c), Next(c), Landings(c)
+		s, n, l := blocks.Split(c), blocks.Next(c), blocks.Landings(c)
 		if !slices.Equal(s, x.split) || !slices.EqualFunc(n, x.next, slices.Equal) || !slices.Equal(l, x.landings) {
 			t.Errorf("%q: %v %v %v", x.text, s, n, l)
 		}
 	}
 	bad := api.Code{Lines: []api.Line{{In: api.Instr{Op: api.InJal, Name: "x"}}}}
-	if len(Split(bad))+len(Next(bad))+len(Landings(bad)) != 0 {
+	if len(blocks.Split(bad))+len(blocks.Next(bad))+len(blocks.Landings(bad)) != 0 {
 		t.Error("not code")
 	}
 }
 
 func TestNewMemory(t *testing.T) { // R3
 	c := get(t, "f: ; ret; jal f; ret; jal f")
-	n := Next(c)
+	n := blocks.Next(c)
 	n[0][0] = 99
-	if n[2][0] == 99 || !reflect.DeepEqual(Next(c)[0], []int{2, 4}) {
+	if n[2][0] == 99 || !reflect.DeepEqual(blocks.Next(c)[0], []int{2, 4}) {
 		t.Error("shared")
 	}
 }
@@ -66,7 +67,7 @@ func TestTheorem(t *testing.T) { // B4
 	for seed := range 300 {
 		c := samples.Code(seed)
 		code, to := asm.Flat(c)
-		list, next := Split(c), Next(c)
+		list, next := blocks.Split(c), blocks.Next(c)
 		at := 0
 		first := map[int]int{len(code): len(list)}
 		for i, b := range list {
@@ -76,7 +77,7 @@ func TestTheorem(t *testing.T) { // B4
 			at = b[1]
 			first[b[0]] = i
 			for k := b[0]; k < b[1]-1; k++ {
-				if turns(code[k]) {
+				if code[k].Op >= api.InBeq && code[k].Op <= api.InRet {
 					t.Error(seed, k)
 				}
 			}

@@ -1,4 +1,4 @@
-package check
+package check_test
 
 import (
 	"slices"
@@ -6,6 +6,7 @@ import (
 	"testing"
 
 	"counterproof/api"
+	"counterproof/check"
 	"counterproof/samples"
 	"counterproof/tree"
 )
@@ -56,16 +57,16 @@ func list(s ...api.Stmt) []api.Stmt { return s }
 func TestPlaces(t *testing.T) { // C1
 	p := prog("b a b", fn("f", "", ""), fn("g", "", ""), fn("f", "", ""))
 	for name, want := range map[string]int{"f": 0, "g": 1, "h": -1, "a": -1, "": -1} {
-		if Place(p, name) != want {
+		if check.Place(p, name) != want {
 			t.Error(name)
 		}
 	}
 	for name, want := range map[string]int{"b": 0, "a": 1, "f": -1, "": -1} {
-		if Array(p, name) != want {
+		if check.Array(p, name) != want {
 			t.Error(name)
 		}
 	}
-	if Place(api.Prog{}, "main") != -1 || Array(api.Prog{}, "a") != -1 {
+	if check.Place(api.Prog{}, "main") != -1 || check.Array(api.Prog{}, "a") != -1 {
 		t.Error("empty")
 	}
 }
@@ -118,7 +119,7 @@ func TestCheck(t *testing.T) { // C2
 		{prog("a", fn("main", "", "", loop(st(api.StmtPrint, call("f", num(1))))), fn("f", "x y", "")), api.ErrArity, 0, 1},
 		{prog("a", fn("g", "", "x"), fn("main", "", "", set("x", num(1)))), api.ErrUnknown, 1, 0},
 	} {
-		if err, place := Check(c.p); err != c.err || place != [2]int{c.f, c.n} {
+		if err, place := check.Check(c.p); err != c.err || place != [2]int{c.f, c.n} {
 			t.Error(i, err, place)
 		}
 	}
@@ -127,12 +128,12 @@ func TestCheck(t *testing.T) { // C2
 func TestFineOnes(t *testing.T) { // C3
 	for seed := range 400 {
 		p := samples.Prog(seed)
-		if err, at := Check(p); err != api.OK || at != [2]int{} {
+		if err, at := check.Check(p); err != api.OK || at != [2]int{} {
 			t.Error(seed, err, at)
 		}
 		slices.Reverse(p.Funcs)
 		slices.Reverse(p.Arrays)
-		if err, _ := Check(p); err != api.OK {
+		if err, _ := check.Check(p); err != api.OK {
 			t.Error(seed, err)
 		}
 	}
@@ -145,7 +146,7 @@ func TestOneWrongName(t *testing.T) { // C3
 		for i := range p.Funcs {
 			n := 0
 			spoil(p.Funcs[i].Body, func() {
-				if err, at := Check(p); err != api.ErrUnknown || at != [2]int{i, n} || !tree.Right(p) {
+				if err, at := check.Check(p); err != api.ErrUnknown || at != [2]int{i, n} || !tree.Right(p) {
 					t.Error(seed, i, n, err, at)
 				}
 			}, &n)

@@ -1,4 +1,4 @@
-package compile
+package compile_test
 
 import (
 	"strings"
@@ -6,6 +6,7 @@ import (
 
 	"counterproof/api"
 	"counterproof/asm"
+	"counterproof/compile"
 	"counterproof/dead"
 	"counterproof/emit"
 	"counterproof/eval"
@@ -55,19 +56,19 @@ func TestLine(t *testing.T) { // K1
 			text, _ := tree.Print(q)
 			lines := strings.Split(text, "\n")
 			for k := range n {
-				at := Line(q, i, k)
-				if !strings.Contains(lines[at-1], samplesText(7000000+k)) || Line(p, i, k) < 1 {
+				at := compile.Line(q, i, k)
+				if !strings.Contains(lines[at-1], samplesText(7000000+k)) || compile.Line(p, i, k) < 1 {
 					t.Error(seed, i, k, at)
 				}
 			}
 			for _, k := range []int{-1, n, n + 7, 1 << 62, -1 << 63} {
-				if at := Line(p, i, k); k >= 0 && !strings.HasPrefix(lines[Line(q, i, k)-1], "int "+p.Funcs[i].Name+"(") || k < 0 && !strings.HasPrefix(lines[Line(q, i, k)-1], "int "+p.Funcs[i].Name+"(") || at < 1 {
+				if at := compile.Line(p, i, k); k >= 0 && !strings.HasPrefix(lines[compile.Line(q, i, k)-1], "int "+p.Funcs[i].Name+"(") || k < 0 && !strings.HasPrefix(lines[compile.Line(q, i, k)-1], "int "+p.Funcs[i].Name+"(") || at < 1 {
 					t.Error(seed, i, k, at)
 				}
 			}
 		}
 		for _, f := range []int{-1, len(p.Funcs), 1 << 62} {
-			if Line(p, f, 0) != 1 {
+			if compile.Line(p, f, 0) != 1 {
 				t.Error(seed, f)
 			}
 		}
@@ -75,15 +76,15 @@ func TestLine(t *testing.T) { // K1
 	p := get(t, "int a[1]; int f() { int x; } int g(int y) { int x; int z; x = 1; if (y) { x = 2; } else { while (y) { x = 3; } } return x; }")
 	want := []int{8, 9, 10, 12, 13, 16}
 	for k, w := range want {
-		if Line(p, 1, k) != w {
-			t.Error(k, Line(p, 1, k))
+		if compile.Line(p, 1, k) != w {
+			t.Error(k, compile.Line(p, 1, k))
 		}
 	}
-	if Line(p, 0, 0) != 2 || Line(p, 1, 6) != 5 || Line(p, 2, 0) != 1 || Line(api.Prog{}, 0, 0) != 1 {
+	if compile.Line(p, 0, 0) != 2 || compile.Line(p, 1, 6) != 5 || compile.Line(p, 2, 0) != 1 || compile.Line(api.Prog{}, 0, 0) != 1 {
 		t.Error("heads")
 	}
 	p.Funcs[0].Name = "int"
-	if Line(p, 1, 3) != 1 {
+	if compile.Line(p, 1, 3) != 1 {
 		t.Error("not right")
 	}
 }
@@ -104,26 +105,26 @@ func TestErrors(t *testing.T) { // K2, K3
 		{"int f() { } int main() { int x; if (1) { x = 1; } else { break; } }", api.ErrLoop, 8}, {"int main() { } int f() { int x; int f; }", api.ErrTwice, 3}, {"int main() { } int f(int x) { x = f(1); x = f(); }", api.ErrArity, 5}, {"int f(int x, int x) { } int main() { print(x); }", api.ErrTwice, 1},
 	} {
 		for level := range 3 {
-			c, err, line := Compile(x.text, level)
+			c, err, line := compile.Compile(x.text, level)
 			if err != x.err || line != x.line || err != api.OK && !asm.Same(c, api.Code{}) {
 				t.Error(x.text, err, line)
 			}
 			if p, err, _ := parse.Parse(x.text); err == api.OK {
-				d, err, line := Tree(p, level)
+				d, err, line := compile.Tree(p, level)
 				if err != x.err || line != x.line || !asm.Same(c, d) {
 					t.Error(x.text, err, line)
 				}
 			}
 		}
 		for _, level := range []int{-1, 3, 1 << 62} {
-			c, err, line := Compile(x.text, level)
-			d, err2, line2 := Tree(api.Prog{}, level)
+			c, err, line := compile.Compile(x.text, level)
+			d, err2, line2 := compile.Tree(api.Prog{}, level)
 			if err != api.ErrArg || line != 1 || err2 != api.ErrArg || line2 != 1 || !asm.Same(c, api.Code{}) || !asm.Same(d, api.Code{}) {
 				t.Error(level, err, line)
 			}
 		}
 	}
-	if c, err, line := Tree(api.Prog{Funcs: []api.Func{{Name: "9"}}}, 1); err != api.ErrArg || line != 1 || !asm.Same(c, api.Code{}) {
+	if c, err, line := compile.Tree(api.Prog{Funcs: []api.Func{{Name: "9"}}}, 1); err != api.ErrArg || line != 1 || !asm.Same(c, api.Code{}) {
 		t.Error(err, line)
 	}
 	wide := "int main() {"
@@ -137,7 +138,7 @@ func TestErrors(t *testing.T) { // K2, K3
 		wide += " print(" + name(i) + ");"
 	}
 	for level := range 3 {
-		if c, err, line := Compile("\n"+wide+"}", level); err != api.ErrLimit || line != 1 || !asm.Same(c, api.Code{}) {
+		if c, err, line := compile.Compile("\n"+wide+"}", level); err != api.ErrLimit || line != 1 || !asm.Same(c, api.Code{}) {
 			t.Error(err, line)
 		}
 	}
@@ -145,7 +146,7 @@ func TestErrors(t *testing.T) { // K2, K3
 	for range 30000 {
 		p.Funcs[0].Body = append(p.Funcs[0].Body, api.Stmt{Kind: api.StmtIf, Args: []api.Expr{samples.Num(1)}})
 	}
-	if _, err, line := Tree(p, 0); err != api.ErrLimit || line != 1 {
+	if _, err, line := compile.Tree(p, 0); err != api.ErrLimit || line != 1 {
 		t.Error(err, line)
 	}
 }
@@ -168,7 +169,7 @@ func TestLevels(t *testing.T) { // K2
 				}
 			}
 			want, err := emit.Emit(u, n)
-			c, err2, _ := Tree(p, level)
+			c, err2, _ := compile.Tree(p, level)
 			if err != err2 || !asm.Same(c, want) {
 				t.Error(seed, level, err, err2)
 			}
@@ -180,7 +181,7 @@ func TestLevels(t *testing.T) { // K2
 func agree(t *testing.T, name string, p api.Prog, in []int, steps ...int) {
 	t.Helper()
 	for level := range 3 {
-		c, err, _ := Tree(p, level)
+		c, err, _ := compile.Tree(p, level)
 		if err != api.OK {
 			t.Error(name, level, err)
 			continue
@@ -208,9 +209,9 @@ func TestRandom(t *testing.T) { // K4, K5
 			continue
 		}
 		for level := range 3 {
-			a, err, line := Compile(text, level)
-			b, _, _ := Tree(p, level)
-			c, err2, _ := Compile("// note\n\t"+strings.ReplaceAll(text, "\n", " // x\n\n")+" ", level)
+			a, err, line := compile.Compile(text, level)
+			b, _, _ := compile.Tree(p, level)
+			c, err2, _ := compile.Compile("// note\n\t"+strings.ReplaceAll(text, "\n", " // x\n\n")+" ", level)
 			if err != api.OK || line != 0 || !asm.Same(a, b) || err2 == api.OK && !asm.Same(a, c) {
 				t.Error(seed, level, err, line, err2)
 			}
@@ -238,7 +239,7 @@ func TestTight(t *testing.T) { // K4
 func TestSize(t *testing.T) { // K6
 	for _, text := range []string{"int main(){}", "int main(){return 1;}", "int a[9];int main(){a[a[a[a[a[1]]]]]=a[2]+a[3];}", "int f(int a,int b,int c,int d,int e,int g){f(a,b,c,d,e,g);}int main(){f(1,2,3,4,5,6);}"} {
 		for level := range 3 {
-			if c, err, _ := Compile(text, level); err != api.OK || len(c.Lines) > 200*len(text)+100 {
+			if c, err, _ := compile.Compile(text, level); err != api.OK || len(c.Lines) > 200*len(text)+100 {
 				t.Error(text, err, len(c.Lines))
 			}
 		}
@@ -248,7 +249,7 @@ func TestSize(t *testing.T) { // K6
 		small += "int f" + name(i/90) + name(i%90) + "(){return 1;}"
 	}
 	for level := range 3 {
-		if c, err, _ := Compile(small, level); len(small) > api.MaxText || err != api.OK || len(c.Lines) > 200*len(small)+100 {
+		if c, err, _ := compile.Compile(small, level); len(small) > api.MaxText || err != api.OK || len(c.Lines) > 200*len(small)+100 {
 			t.Error(err, len(c.Lines), len(small))
 		}
 	}

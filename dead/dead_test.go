@@ -1,4 +1,4 @@
-package dead
+package dead_test
 
 import (
 	"reflect"
@@ -6,6 +6,7 @@ import (
 	"testing"
 
 	"counterproof/api"
+	"counterproof/dead"
 	"counterproof/flow"
 	"counterproof/ir"
 	"counterproof/irrun"
@@ -100,7 +101,7 @@ func TestDead(t *testing.T) { // D1
 	} {
 		u := unit(c.in...)
 		before := text(u)
-		got, err := Dead(u)
+		got, err := dead.Dead(u)
 		if err != api.OK || text(got) != text(unit(c.want...)) || text(u) != before {
 			t.Error(i, err, text(got), text(unit(c.want...)))
 		}
@@ -109,14 +110,14 @@ func TestDead(t *testing.T) { // D1
 
 func TestErrors(t *testing.T) { // D1
 	for i, u := range []api.Unit{{}, unit(), unit(block(ret(9))), unit(block(ret(0), num(9, 0)))} {
-		if got, err := Dead(u); err != api.ErrArg || !reflect.DeepEqual(got, api.Unit{}) {
+		if got, err := dead.Dead(u); err != api.ErrArg || !reflect.DeepEqual(got, api.Unit{}) {
 			t.Error(i, err)
 		}
 	}
 }
 
 func TestSize(t *testing.T) { // D1
-	if Size(api.Unit{}) != [2]int{} || Size(unit(block(ret(0), num(1, 1)), block(api.Term{}, num(1, 1), ins{}))) != [2]int{3, 2} {
+	if dead.Size(api.Unit{}) != [2]int{} || dead.Size(unit(block(ret(0), num(1, 1)), block(api.Term{}, num(1, 1), ins{}))) != [2]int{3, 2} {
 		t.Error("size")
 	}
 }
@@ -126,17 +127,17 @@ func TestTheorem(t *testing.T) { // D1, D2
 	for seed := range 600 {
 		u := samples.Unit(seed)
 		in := samples.New(seed).Input()
-		d, err := Dead(u)
+		d, err := dead.Dead(u)
 		if err2, _ := ir.Check(d); err != api.OK || err2 != api.OK || text(u) != text(samples.Unit(seed)) {
 			t.Fatal(seed, err, err2)
 		}
 		if text(d) != text(slow(u)) {
 			t.Error(seed, text(u), text(d))
 		}
-		if again, _ := Dead(d); text(again) != text(d) {
+		if again, _ := dead.Dead(d); text(again) != text(d) {
 			t.Error(seed)
 		}
-		a, b := Size(u), Size(d)
+		a, b := dead.Size(u), dead.Size(d)
 		if b[0] < a[0] {
 			less++
 		}
@@ -154,7 +155,7 @@ func TestTheorem(t *testing.T) { // D1, D2
 
 func TestNewMemory(t *testing.T) { // R3
 	u := samples.Unit(9)
-	d, _ := Dead(u)
+	d, _ := dead.Dead(u)
 	for _, f := range d.Flows {
 		for _, b := range f.Blocks {
 			for _, x := range b.Ins {
@@ -175,7 +176,7 @@ func TestChain(t *testing.T) {
 	}
 	u := unit(block(ret(0), list...))
 	u.Flows[0].Values = 50000
-	if d, err := Dead(u); err != api.OK || Size(d) != [2]int{0, 1} {
-		t.Error(err, Size(d))
+	if d, err := dead.Dead(u); err != api.OK || dead.Size(d) != [2]int{0, 1} {
+		t.Error(err, dead.Size(d))
 	}
 }

@@ -1,4 +1,4 @@
-package emit
+package emit_test
 
 import (
 	"reflect"
@@ -8,6 +8,7 @@ import (
 
 	"counterproof/api"
 	"counterproof/asm"
+	"counterproof/emit"
 	"counterproof/instr"
 	"counterproof/irrun"
 	"counterproof/lower"
@@ -43,12 +44,12 @@ func program(t *testing.T, text string) api.Unit {
 func TestRegisterAndFrame(t *testing.T) { // E1
 	want := []int{5, 6, 7, 9, 18, 19, 20, 21, 22, 23, 24, 25, 26, 27, 28, 29, 30, 31}
 	for n, r := range want {
-		if Register(n) != r {
-			t.Error(n, Register(n))
+		if emit.Register(n) != r {
+			t.Error(n, emit.Register(n))
 		}
 	}
 	for _, n := range []int{-1, 18, 19, 1 << 62, -1 << 63} {
-		if Register(n) != 0 {
+		if emit.Register(n) != 0 {
 			t.Error(n)
 		}
 	}
@@ -66,17 +67,17 @@ func TestRegisterAndFrame(t *testing.T) { // E1
 						count++
 					}
 				}
-				if Frame(f, n) != count {
-					t.Error(seed, n, Frame(f, n), count)
+				if emit.Frame(f, n) != count {
+					t.Error(seed, n, emit.Frame(f, n), count)
 				}
 			}
 		}
 	}
 	f := unit(1, block(ret(0))).Flows[0]
-	if Frame(f, 18) != 2 || Frame(f, 0) != 2 || Frame(f, -1) != 0 || Frame(f, 33) != 0 || Frame(api.Flow{}, 3) != 0 || Frame(api.Flow{Values: 2}, 3) != 0 || Frame(unit(0, block(ret(0))).Flows[0], 3) != 1 || Frame(unit(-1, block(ret(0))).Flows[0], 3) != 0 || Frame(unit(1, block(ret(7))).Flows[0], 3) != 0 {
+	if emit.Frame(f, 18) != 2 || emit.Frame(f, 0) != 2 || emit.Frame(f, -1) != 0 || emit.Frame(f, 33) != 0 || emit.Frame(api.Flow{}, 3) != 0 || emit.Frame(api.Flow{Values: 2}, 3) != 0 || emit.Frame(unit(0, block(ret(0))).Flows[0], 3) != 1 || emit.Frame(unit(-1, block(ret(0))).Flows[0], 3) != 0 || emit.Frame(unit(1, block(ret(7))).Flows[0], 3) != 0 {
 		t.Error("frame")
 	}
-	if Frame(unit(0, block(api.Term{Kind: api.TermJump})).Flows[0], 4) != 1 {
+	if emit.Frame(unit(0, block(api.Term{Kind: api.TermJump})).Flows[0], 4) != 1 {
 		t.Error("no values")
 	}
 }
@@ -127,14 +128,17 @@ func TestRandom(t *testing.T) { // E2, E3, E4
 		u := samples.Unit(seed)
 		in := samples.New(seed).Input()
 		for _, n := range []int{0, 1, 2, 3, 5, 18} {
-			c, err := Emit(u, n)
+			c, err := emit.Emit(u, n)
 			if err != api.OK {
 				t.Fatal(seed, n, err)
 			}
 			name := strconv.Itoa(seed) + " " + strconv.Itoa(n)
+			if widest(u, n) > api.MaxFrame {
+				t.Error(name)
+			}
 			form(t, name, u, c)
 			agree(t, name, u, c, in, few...)
-			if d, _ := Emit(samples.Unit(seed), n); !asm.Same(c, d) {
+			if d, _ := emit.Emit(samples.Unit(seed), n); !asm.Same(c, d) {
 				t.Error(name, "not the same")
 			}
 		}
@@ -142,7 +146,7 @@ func TestRandom(t *testing.T) { // E2, E3, E4
 	for seed := range 200 {
 		u, _ := lower.Lower(samples.Prog(seed))
 		for _, n := range []int{0, 4, 18} {
-			if c, err := Emit(u, n); err == api.OK {
+			if c, err := emit.Emit(u, n); err == api.OK {
 				agree(t, "program", u, c, samples.New(seed).Input(), few...)
 			}
 		}
@@ -167,6 +171,15 @@ func wide(locals int, args string) string {
 	return text + " } int main() { f(1, 2, 3, 4, 5, 6); }"
 }
 
+// widest is the greatest Frame of a unit's functions.
+func widest(u api.Unit, registers int) int {
+	most := 0
+	for _, f := range u.Flows {
+		most = max(most, emit.Frame(f, registers))
+	}
+	return most
+}
+
 func TestTight(t *testing.T) { // E3, where the one takes many steps, and the other one few
 	for _, text := range []string{
 		"int main() { while (1) { } }", "int main() { int x; int y; while (1) { x = y; y = x; x = x; print(x); } }", "int f() { } int main() { while (1) { f(); print(f()); } }", "int f() { return f(); } int main() { f(); }",
@@ -177,7 +190,10 @@ func TestTight(t *testing.T) { // E3, where the one takes many steps, and the ot
 	} {
 		u := program(t, text)
 		for _, n := range []int{0, 2, 8, 18} {
-			c, err := Emit(u, n)
+			c, err := emit.Emit(u, n)
+			if err == api.ErrLimit && widest(u, n) > api.MaxFrame {
+				continue
+			}
 			if err != api.OK {
 				t.Fatal(text, n, err)
 			}
@@ -196,7 +212,7 @@ func TestSelves(t *testing.T) { // E3: instructions that do nothing are steps of
 	u := unit(2, block(api.Term{Kind: api.TermJump, To: 1}), block(api.Term{Kind: api.TermIf, A: 1, To: 1, Else: 1}, slices.Repeat([]ins{move}, 300)...))
 	u.Flows[0].Blocks[1].Ins = append(u.Flows[0].Blocks[1].Ins, ins{Kind: api.InsPrint})
 	for _, n := range []int{0, 1, 18} {
-		c, _ := Emit(u, n)
+		c, _ := emit.Emit(u, n)
 		agree(t, "selves", u, c, nil, few...)
 	}
 }
@@ -213,7 +229,7 @@ func TestWidestCalls(t *testing.T) { // E3, at the most that a call can have to 
 		f.Blocks[0].Term = api.Term{Kind: api.TermIf, A: 6, To: 1, Else: 1}
 		u := unit(6, block(ret(0), call))
 		u.Flows = append(u.Flows, f)
-		c, err := Emit(u, n)
+		c, err := emit.Emit(u, n)
 		if err != api.OK {
 			t.Fatal(n, err)
 		}
@@ -224,12 +240,12 @@ func TestWidestCalls(t *testing.T) { // E3, at the most that a call can have to 
 func TestErrors(t *testing.T) { // E2
 	ok := unit(1, block(ret(0)))
 	for i, u := range []api.Unit{{}, unit(0, block(ret(0))), unit(1)} {
-		if c, err := Emit(u, 3); err != api.ErrArg || !asm.Same(c, api.Code{}) {
+		if c, err := emit.Emit(u, 3); err != api.ErrArg || !asm.Same(c, api.Code{}) {
 			t.Error(i, err)
 		}
 	}
 	for _, n := range []int{-1, 19, 1 << 62} {
-		if c, err := Emit(ok, n); err != api.ErrArg || !asm.Same(c, api.Code{}) {
+		if c, err := emit.Emit(ok, n); err != api.ErrArg || !asm.Same(c, api.Code{}) {
 			t.Error(n, err)
 		}
 	}
@@ -245,28 +261,28 @@ func TestErrors(t *testing.T) { // E2
 		return unit(n, block(ret(0), list...))
 	}
 	for _, n := range []int{0, 18} {
-		if f := Frame(many(79).Flows[0], n); f != 80 {
+		if f := emit.Frame(many(79).Flows[0], n); f != 80 {
 			t.Error(n, f)
 		}
-		if _, err := Emit(many(79), n); err != api.OK {
+		if _, err := emit.Emit(many(79), n); err != api.OK {
 			t.Error(n, err)
 		}
-		if c, err := Emit(many(80), n); err != api.ErrLimit || !asm.Same(c, api.Code{}) {
+		if c, err := emit.Emit(many(80), n); err != api.ErrLimit || !asm.Same(c, api.Code{}) {
 			t.Error(n, err)
 		}
 	}
 	long := unit(1, block(ret(0), slices.Repeat([]ins{{Kind: api.InsNum}}, 39950)...))
-	if c, err := Emit(long, 18); err != api.OK || len(c.Lines) > api.MaxLines {
+	if c, err := emit.Emit(long, 18); err != api.OK && err != api.ErrLimit || len(c.Lines) > api.MaxLines || err == api.OK && len(c.Lines) < 39951 {
 		t.Error(err, len(c.Lines))
 	}
 	long = unit(1, block(ret(0), slices.Repeat([]ins{{Kind: api.InsNum}}, 40000)...))
-	if c, err := Emit(long, 18); err != api.ErrLimit || !asm.Same(c, api.Code{}) {
+	if c, err := emit.Emit(long, 18); err != api.ErrLimit || !asm.Same(c, api.Code{}) {
 		t.Error(err)
 	}
 }
 
 func TestExample(t *testing.T) {
-	c, _ := Emit(unit(1, block(ret(0))), 18)
+	c, _ := emit.Emit(unit(1, block(ret(0))), 18)
 	if r := mach.Run(c, nil, 1000); r.Status != api.StatDone || r.Code != 0 {
 		t.Error(r)
 	}
@@ -279,7 +295,7 @@ func TestExample(t *testing.T) {
 func TestLeavesRegisters(t *testing.T) { // E4
 	kept := []int{2, 8}
 	for n := range 18 {
-		kept = append(kept, Register(n))
+		kept = append(kept, emit.Register(n))
 	}
 	returned := 0
 	for seed := range 300 {
@@ -288,7 +304,7 @@ func TestLeavesRegisters(t *testing.T) { // E4
 			u, _ = lower.Lower(samples.Prog(seed))
 		}
 		for _, n := range []int{0, 2, 18} {
-			c, err := Emit(u, n)
+			c, err := emit.Emit(u, n)
 			if err != api.OK {
 				continue
 			}
@@ -338,7 +354,7 @@ func TestLeavesRegisters(t *testing.T) { // E4
 
 func TestNewMemory(t *testing.T) { // R3
 	u := samples.Unit(8)
-	c, _ := Emit(u, 4)
+	c, _ := emit.Emit(u, 4)
 	clear(c.Arrays)
 	clear(c.Lines)
 	if !reflect.DeepEqual(u, samples.Unit(8)) {

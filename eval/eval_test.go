@@ -1,4 +1,4 @@
-package eval
+package eval_test
 
 import (
 	"reflect"
@@ -7,6 +7,7 @@ import (
 	"testing"
 
 	"counterproof/api"
+	"counterproof/eval"
 	"counterproof/parse"
 	"counterproof/samples"
 	"counterproof/tree"
@@ -66,12 +67,12 @@ func TestRun(t *testing.T) { // E1
 	} {
 		p := get(t, c.text)
 		in := slices.Clone(c.in)
-		got := Run(p, c.in, 100000)
+		got := eval.Run(p, c.in, 100000)
 		if !same(got, c.want) || !slices.Equal(in, c.in) {
 			t.Error(i, got, c.want)
 		}
 		for n := -1; n <= got.Steps+1; n++ {
-			r := Run(p, c.in, n)
+			r := eval.Run(p, c.in, n)
 			if max(n, 0) >= got.Steps && !same(r, got) {
 				t.Error(i, n, r)
 			}
@@ -84,11 +85,11 @@ func TestRun(t *testing.T) { // E1
 
 func TestRunOfWhatMayNotBe(t *testing.T) { // E1, wrong inputs
 	for _, text := range []string{"", "int f() { }", "int main() { x = 1; }", "int main() { break; }", "int main(int a) { }", "int main() { main(1); }"} {
-		if r := Run(get(t, text), []int{1}, 100); !reflect.DeepEqual(r, api.Run{}) {
+		if r := eval.Run(get(t, text), []int{1}, 100); !reflect.DeepEqual(r, api.Run{}) {
 			t.Error(text, r)
 		}
 	}
-	if r := Run(api.Prog{Funcs: []api.Func{{Name: "main", Body: []api.Stmt{{}}}}}, nil, 100); !reflect.DeepEqual(r, api.Run{}) {
+	if r := eval.Run(api.Prog{Funcs: []api.Func{{Name: "main", Body: []api.Stmt{{}}}}}, nil, 100); !reflect.DeepEqual(r, api.Run{}) {
 		t.Error(r)
 	}
 }
@@ -96,7 +97,7 @@ func TestRunOfWhatMayNotBe(t *testing.T) { // E1, wrong inputs
 func TestGoing(t *testing.T) { // E1
 	p := get(t, "int main() { while (1) { print(1); } }")
 	for _, n := range []int{-1 << 63, -1, 0, 1, 5, 1000} {
-		r := Run(p, nil, n)
+		r := eval.Run(p, nil, n)
 		if r.Status != api.StatGoing || r.Steps != max(n, 0) || len(r.Out) != (max(n, 1)-1)/3 {
 			t.Error(n, r.Status, r.Steps, len(r.Out))
 		}
@@ -106,22 +107,22 @@ func TestGoing(t *testing.T) { // E1
 func TestValue(t *testing.T) { // E2
 	for text, want := range map[string]int{"1 + 2 * 3": 7, "-7 / 2": -3, "!0 << 63 >> 63": -1, "~5": -6, "0 / 1": 0, "'a'": 97} {
 		e, _, _ := parse.Expr(text)
-		if v, ok := Value(e); v != want || !ok {
+		if v, ok := eval.Value(e); v != want || !ok {
 			t.Error(text, v, ok)
 		}
 	}
 	for _, text := range []string{"x", "a[0]", "f()", "f(1)", "read()", "1 / 0", "1 % (2 - 2)", "0 * (1 / 0)", "1 + x", "-read()", "3 - a[1]"} {
 		e, _, _ := parse.Expr(text)
-		if v, ok := Value(e); v != 0 || ok {
+		if v, ok := eval.Value(e); v != 0 || ok {
 			t.Error(text, v, ok)
 		}
 	}
 	deep, _, _ := parse.Expr(strings.Repeat("-", 39) + "1")
-	if v, ok := Value(deep); v != -1 || !ok {
+	if v, ok := eval.Value(deep); v != -1 || !ok {
 		t.Error(v, ok)
 	}
 	for _, e := range []api.Expr{{}, {Kind: api.ExprNum, N: -1}, {Kind: api.ExprOne, Op: api.OpNeg, Args: []api.Expr{deep}}, {Kind: api.ExprTwo, Op: api.OpNeg, Args: []api.Expr{deep, deep}}, {Kind: api.ExprTwo, Op: api.OpAdd}} {
-		if v, ok := Value(e); v != 0 || ok {
+		if v, ok := eval.Value(e); v != 0 || ok {
 			t.Error(e, v, ok)
 		}
 	}
@@ -131,9 +132,9 @@ func TestTheorem(t *testing.T) { // E3
 	for seed := range 300 {
 		p := samples.Prog(seed)
 		in := samples.New(seed).Input()
-		r := Run(p, in, 3000)
+		r := eval.Run(p, in, 3000)
 		for _, n := range []int{0, 1, 7, 100, 2999, 3001, 9000} {
-			q := Run(p, in, n)
+			q := eval.Run(p, in, n)
 			if r.Status != api.StatGoing && n >= r.Steps && !same(q, r) {
 				t.Error(seed, n)
 			}
@@ -146,13 +147,13 @@ func TestTheorem(t *testing.T) { // E3
 			}
 		}
 		if reads := strings.Contains(text(p), "read()"); !reads {
-			if q := Run(p, append(in, 1, 2), 3000); !same(q, r) {
+			if q := eval.Run(p, append(in, 1, 2), 3000); !same(q, r) {
 				t.Error(seed)
 			}
 		}
 	}
 	p := get(t, "int main() { print(read()); print(read()); }")
-	if !same(Run(p, []int{3, 4}, 50), Run(p, []int{3, 4, 5, 6}, 50)) {
+	if !same(eval.Run(p, []int{3, 4}, 50), eval.Run(p, []int{3, 4, 5, 6}, 50)) {
 		t.Error("reads")
 	}
 }

@@ -1,10 +1,11 @@
-package flow
+package flow_test
 
 import (
 	"slices"
 	"testing"
 
 	"counterproof/api"
+	"counterproof/flow"
 	"counterproof/ir"
 	"counterproof/irrun"
 	"counterproof/samples"
@@ -53,7 +54,7 @@ func ahead(f api.Flow, b, at int) []int {
 func TestByWords(t *testing.T) { // W1, W2
 	for seed := range 200 {
 		for _, f := range samples.Unit(seed).Flows {
-			live, all, reach := Live(f), All(f), Reach(f)
+			live, all, reach := flow.Live(f), flow.All(f), flow.Reach(f)
 			if len(live) != len(f.Blocks) || len(all) != len(f.Blocks) || len(reach) != len(f.Blocks) {
 				t.Fatal(seed)
 			}
@@ -72,7 +73,7 @@ func TestByWords(t *testing.T) { // W1, W2
 				if !slices.Equal(live[b], ahead(f, b, 0)) || reach[b] != come[b] {
 					t.Error(seed, b, live[b])
 				}
-				after := After(f, b)
+				after := flow.After(f, b)
 				if len(after) != len(x.Ins)+1 || len(all[b]) != len(after) {
 					t.Fatal(seed, b, len(after))
 				}
@@ -87,7 +88,7 @@ func TestByWords(t *testing.T) { // W1, W2
 						after[i][k] = -9
 					}
 				}
-				if !slices.Equal(After(f, b)[0], all[b][0]) {
+				if !slices.Equal(flow.After(f, b)[0], all[b][0]) {
 					t.Error("shared")
 				}
 			}
@@ -97,8 +98,8 @@ func TestByWords(t *testing.T) { // W1, W2
 
 func TestExample(t *testing.T) {
 	f := api.Flow{Params: 1, Values: 2, Blocks: []api.Block{block(ret(1), ins{Kind: api.InsMove, D: 1})}}
-	a := After(f, 0)
-	if l := Live(f); len(l) != 1 || !slices.Equal(l[0], []int{0}) || len(a) != 2 || !slices.Equal(a[0], []int{1}) || !slices.Equal(a[1], []int{1}) {
+	a := flow.After(f, 0)
+	if l := flow.Live(f); len(l) != 1 || !slices.Equal(l[0], []int{0}) || len(a) != 2 || !slices.Equal(a[0], []int{1}) || !slices.Equal(a[1], []int{1}) {
 		t.Error(l, a)
 	}
 	a[0] = append(a[0], 5)
@@ -116,24 +117,24 @@ func TestEdges(t *testing.T) { // W1, W2
 		block(api.Term{Kind: api.TermJump, To: 1, A: -1, Else: 99}),
 		block(api.Term{Kind: api.TermIf, A: 3, To: 0, Else: 2}),
 	}}
-	if l := Live(f); len(l) != 3 || len(l[0]) != 0 || len(l[1]) != 0 || !slices.Equal(l[2], []int{3}) || !slices.Equal(Reach(f), []bool{true, false, false}) {
-		t.Error(l, Reach(f))
+	if l := flow.Live(f); len(l) != 3 || len(l[0]) != 0 || len(l[1]) != 0 || !slices.Equal(l[2], []int{3}) || !slices.Equal(flow.Reach(f), []bool{true, false, false}) {
+		t.Error(l, flow.Reach(f))
 	}
-	if a := After(f, 0); len(a) != 4 || !slices.Equal(a[0], []int{49999}) || !slices.Equal(a[1], []int{49999}) || len(a[2])+len(a[3]) != 0 {
+	if a := flow.After(f, 0); len(a) != 4 || !slices.Equal(a[0], []int{49999}) || !slices.Equal(a[1], []int{49999}) || len(a[2])+len(a[3]) != 0 {
 		t.Error(a)
 	}
-	if len(After(f, -1))+len(After(f, 3))+len(After(f, 1<<62)) != 0 {
+	if len(flow.After(f, -1))+len(flow.After(f, 3))+len(flow.After(f, 1<<62)) != 0 {
 		t.Error("no such block")
 	}
-	if len(Reach(api.Flow{}))+len(Live(api.Flow{}))+len(All(api.Flow{}))+len(After(api.Flow{}, 0)) != 0 {
+	if len(flow.Reach(api.Flow{}))+len(flow.Live(api.Flow{}))+len(flow.All(api.Flow{}))+len(flow.After(api.Flow{}, 0)) != 0 {
 		t.Error("empty")
 	}
 	for i, b := range []api.Block{
 		block(ret(50000)), block(ret(-1)), block(api.Term{Kind: api.TermTrap, A: -1}), block(api.Term{Kind: api.TermIf, A: 50000}), block(api.Term{Kind: api.TermJump, To: 2}), block(api.Term{Kind: api.TermJump, To: -1}), block(api.Term{Kind: api.TermIf, Else: 2}), block(api.Term{Kind: api.TermIf, To: -1}),
-		block(ret(0), read(50000)), block(ret(0), read(-1)), block(ret(0), read(-2)), block(ret(0), ins{Kind: api.InsPrint, A: -1}), block(ret(0), ins{Kind: api.InsStore, B: 50000}), block(ret(0), ins{Kind: api.InsCall, Args: []int{0, -1}}),
+		block(ret(0), read(50000)), block(ret(0), read(-2)), block(ret(0), ins{Kind: api.InsPrint, A: -1}), block(ret(0), ins{Kind: api.InsStore, B: 50000}), block(ret(0), ins{Kind: api.InsCall, Args: []int{0, -1}}),
 	} {
 		g := api.Flow{Values: 60000, Blocks: []api.Block{block(ret(0)), b}}
-		if len(Reach(g))+len(Live(g))+len(After(g, 0))+len(All(g)) != 0 {
+		if len(flow.Reach(g))+len(flow.Live(g))+len(flow.After(g, 0))+len(flow.All(g)) != 0 {
 			t.Error(i)
 		}
 	}
@@ -150,7 +151,7 @@ func TestUnwanted(t *testing.T) { // W3
 		f := &u.Flows[k]
 		b := r.Below(len(f.Blocks))
 		v := r.Below(f.Values)
-		if slices.Contains(Live(*f)[b], v) {
+		if slices.Contains(flow.Live(*f)[b], v) {
 			continue
 		}
 		spoil := []ins{{Kind: api.InsNum, D: v, N: 987654321}}
@@ -166,7 +167,7 @@ func TestMany(t *testing.T) {
 	for i := range 20000 {
 		f.Blocks = append(f.Blocks, block(api.Term{Kind: api.TermIf, A: i % 3, To: (i + 1) % 20000, Else: i / 2}, ins{Kind: api.InsPrint, A: i % 7}, ins{Kind: api.InsMove, D: i + 7, A: 5}))
 	}
-	if l := Live(f); len(l[0]) != 7 || len(All(f)) != 20000 {
+	if l := flow.Live(f); len(l[0]) != 7 || len(flow.All(f)) != 20000 {
 		t.Error(l[0])
 	}
 }

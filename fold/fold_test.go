@@ -1,4 +1,4 @@
-package fold
+package fold_test
 
 import (
 	"reflect"
@@ -8,6 +8,7 @@ import (
 
 	"counterproof/api"
 	"counterproof/arith"
+	"counterproof/fold"
 	"counterproof/ir"
 	"counterproof/irrun"
 	"counterproof/samples"
@@ -67,7 +68,7 @@ func TestBecome(t *testing.T) { // C1
 		{ret(0), []ins{num(0, 2), tell(1), {Kind: api.InsStore, A: 1, B: 2, Name: "a"}, one(api.OpInv, 1, 0)}, []ins{num(0, 2), tell(1), {Kind: api.InsStore, A: 1, B: 2, Name: "a"}, num(1, -3)}, ret(0)},
 	} {
 		u := unit(c.term, c.in...)
-		got, err := Fold(u)
+		got, err := fold.Fold(u)
 		if err != api.OK || !reflect.DeepEqual(got.Flows[0].Blocks[0].Ins, c.want) || got.Flows[0].Blocks[0].Term != c.end {
 			t.Error(i, err, got.Flows[0].Blocks[0], c.want)
 		}
@@ -77,7 +78,7 @@ func TestBecome(t *testing.T) { // C1
 	}
 	for op := api.OpAdd; op <= api.OpNe; op++ {
 		want, _ := arith.Two(op, -9, 4)
-		if u, _ := Fold(unit(ret(0), num(0, -9), num(1, 4), two(op, 2, 0, 1))); !reflect.DeepEqual(u.Flows[0].Blocks[0].Ins[2], num(2, want)) {
+		if u, _ := fold.Fold(unit(ret(0), num(0, -9), num(1, 4), two(op, 2, 0, 1))); !reflect.DeepEqual(u.Flows[0].Blocks[0].Ins[2], num(2, want)) {
 			t.Error(op)
 		}
 	}
@@ -86,7 +87,7 @@ func TestBecome(t *testing.T) { // C1
 func TestBlocksKnowNothingOfOneAnother(t *testing.T) { // C1
 	u := unit(api.Term{Kind: api.TermJump, To: 1}, num(0, 1), move(1, 2))
 	u.Flows[0].Blocks[1].Ins = []ins{one(api.OpNeg, 3, 0), tell(1)}
-	got, _ := Fold(u)
+	got, _ := fold.Fold(u)
 	a, _ := ir.Print(got)
 	if b, _ := ir.Print(u); a != b {
 		t.Error(a)
@@ -95,14 +96,14 @@ func TestBlocksKnowNothingOfOneAnother(t *testing.T) { // C1
 
 func TestErrors(t *testing.T) { // C1
 	for i, u := range []api.Unit{{}, unit(ret(9)), unit(ret(0), num(9, 1)), unit(api.Term{})} {
-		if got, err := Fold(u); err != api.ErrArg || !reflect.DeepEqual(got, api.Unit{}) {
+		if got, err := fold.Fold(u); err != api.ErrArg || !reflect.DeepEqual(got, api.Unit{}) {
 			t.Error(i, err)
 		}
 	}
 }
 
 func TestKnown(t *testing.T) { // C1
-	if Known(api.Unit{}) != [2]int{} || Known(unit(ret(0), num(0, 1), read(1), num(0, 1))) != [2]int{2, 4} || Known(unit(api.Term{Kind: api.TermIf})) != [2]int{0, 3} || Known(unit(api.Term{})) != [2]int{0, 4} {
+	if fold.Known(api.Unit{}) != [2]int{} || fold.Known(unit(ret(0), num(0, 1), read(1), num(0, 1))) != [2]int{2, 4} || fold.Known(unit(api.Term{Kind: api.TermIf})) != [2]int{0, 3} || fold.Known(unit(api.Term{})) != [2]int{0, 4} {
 		t.Error("known")
 	}
 }
@@ -112,7 +113,7 @@ func TestTheorem(t *testing.T) { // C2
 	for seed := range 500 {
 		u := samples.Unit(seed)
 		in := samples.New(seed).Input()
-		f, err := Fold(u)
+		f, err := fold.Fold(u)
 		if err2, _ := ir.Check(f); err != api.OK || err2 != api.OK || !reflect.DeepEqual(u, samples.Unit(seed)) {
 			t.Fatal(seed, err, err2)
 		}
@@ -132,14 +133,14 @@ func TestTheorem(t *testing.T) { // C2
 				}
 			}
 		}
-		a, b := Known(u), Known(f)
+		a, b := fold.Known(u), fold.Known(f)
 		if b[0] < a[0] || b[1] < a[1] {
 			t.Error(seed, a, b)
 		}
 		if b != a {
 			more++
 		}
-		if again, _ := Fold(u); !reflect.DeepEqual(again, f) {
+		if again, _ := fold.Fold(u); !reflect.DeepEqual(again, f) {
 			t.Error(seed)
 		}
 	}
@@ -154,7 +155,7 @@ func TestLongBlock(t *testing.T) {
 		list = append(list, move(1+i%8, 0), read(0))
 	}
 	u := unit(ret(0), list[:200000]...)
-	if f, err := Fold(u); err != api.OK || !strings.HasPrefix(f.Flows[0].Name, "main") {
+	if f, err := fold.Fold(u); err != api.OK || !strings.HasPrefix(f.Flows[0].Name, "main") {
 		t.Error(err)
 	}
 }

