@@ -154,18 +154,25 @@ func TestTheorem(t *testing.T) { // D1, D2
 }
 
 func TestNewMemory(t *testing.T) { // R3
-	u := samples.Unit(9)
-	d, _ := dead.Dead(u)
-	for _, f := range d.Flows {
-		for _, b := range f.Blocks {
-			for _, x := range b.Ins {
-				clear(x.Args)
+	for seed := range 60 {
+		u := samples.Unit(seed)
+		d, _ := dead.Dead(u)
+		for _, f := range d.Flows {
+			for _, b := range f.Blocks {
+				for _, x := range b.Ins {
+					for i := range x.Args {
+						x.Args[i] = -1
+					}
+				}
+				clear(b.Ins)
 			}
-			clear(b.Ins)
+			clear(f.Blocks)
 		}
-	}
-	if text(u) != text(samples.Unit(9)) {
-		t.Error("shared")
+		clear(d.Arrays)
+		clear(d.Flows)
+		if text(u) != text(samples.Unit(seed)) {
+			t.Error(seed, "shared")
+		}
 	}
 }
 

@@ -281,6 +281,23 @@ func TestErrors(t *testing.T) { // E2
 	}
 }
 
+func TestLines(t *testing.T) { // E2: 40000 lines go, one more does not
+	read := func(k int) (int, api.Errno) {
+		c, err := emit.Emit(unit(1, block(ret(0), slices.Repeat([]ins{{Kind: api.InsNum, N: 7}}, k)...)), 18)
+		return len(c.Lines), err
+	}
+	base, _ := read(1000)
+	next, _ := read(1001)
+	each := next - base
+	most := 1000 + (api.MaxLines-base)/each
+	if n, err := read(most); err != api.OK || n != base+(most-1000)*each || n > api.MaxLines {
+		t.Error(n, err)
+	}
+	if n, err := read(most + 1); err != api.ErrLimit || n != 0 {
+		t.Error(n, err)
+	}
+}
+
 func TestExample(t *testing.T) {
 	c, _ := emit.Emit(unit(1, block(ret(0))), 18)
 	if r := mach.Run(c, nil, 1000); r.Status != api.StatDone || r.Code != 0 {

@@ -62,6 +62,8 @@ func TestRun(t *testing.T) { // E1
 		{"int f(int a, int b, int c) { int d; print(a); print(b); print(c); print(d); d = 7; } int main() { print(f(read(), read(), read())); f(1, 2, 3); }", []int{1, 2, 3}, run(1, 0, 30, 1, 2, 3, 0, 0, 1, 2, 3, 0)},
 		{"int main() { if (3) { print(1); } else { print(2); } if (0) { print(3); } else { print(4); } if (0) { } }", nil, run(1, 0, 10, 1, 4)},
 		{"int main() { print(-!~0); print(1 << 65); print(-8 >> 1); print(0 & 1 / 1 | 2); }", nil, run(1, 0, 22, 0, 2, -4, 2)},
+		{"int f() { return 1; } int g() { return 2; } int main() { int i; while (i < 60) { i = i + f(); } return g() * 10 + i; }", nil, run(1, 80, 1+61*3+60*6+8)},
+		{"int g(int n) { if (n == 0) { return 0; } g(n - 1); return g(n - 1) + 1; } int main() { return g(5); }", nil, run(1, 5, 3+32*6+31*16)},
 		{"int main() { print(9223372036854775807 + 1); }", nil, run(1, 0, 4, -1<<63)},
 		{"int a[1048576]; int b[1048576]; int main() { a[1048575] = 1; b[0] = 2; print(a[1048575]); print(b[0]); print(a[0]); }", nil, run(1, 0, 15, 1, 2, 0)},
 	} {

@@ -58,6 +58,10 @@ func TestBecome(t *testing.T) { // C1
 		{ret(0), []ins{move(0, 0), tell(0)}, []ins{move(0, 0), tell(0)}, ret(0)},
 		{ret(1), []ins{move(1, 0), move(0, 2), tell(1), tell(0)}, []ins{move(1, 0), move(0, 2), tell(1), tell(2)}, ret(1)},
 		{ret(1), []ins{move(1, 0), move(2, 1), move(1, 3), tell(2)}, []ins{move(1, 0), move(2, 0), move(1, 3), tell(0)}, ret(3)},
+		// What was known of a value once, and no more, drops nothing that is known of it since.
+		{ret(1), []ins{move(1, 0), num(1, 5), read(0), one(api.OpNeg, 2, 1)}, []ins{move(1, 0), num(1, 5), read(0), num(2, -5)}, ret(1)},
+		{ret(1), []ins{move(1, 0), move(1, 3), read(0), tell(1)}, []ins{move(1, 0), move(1, 3), read(0), tell(3)}, ret(3)},
+		{ret(1), []ins{move(1, 0), move(2, 0), read(1), move(1, 0), read(0), tell(1), tell(2)}, []ins{move(1, 0), move(2, 0), read(1), move(1, 0), read(0), tell(1), tell(2)}, ret(1)},
 		// Div and Rem by 0 stay as they are, and values that are known to be numbers stay values.
 		{ret(3), []ins{num(0, 6), num(1, 0), two(api.OpDiv, 3, 0, 1), two(api.OpRem, 3, 0, 1), two(api.OpDiv, 2, 1, 0)}, []ins{num(0, 6), num(1, 0), two(api.OpDiv, 3, 0, 1), two(api.OpRem, 3, 0, 1), num(2, 0)}, ret(3)},
 		{ret(0), []ins{num(0, 6), two(api.OpAdd, 0, 0, 0), two(api.OpAdd, 0, 0, 1), two(api.OpAdd, 0, 0, 0)}, []ins{num(0, 6), num(0, 12), two(api.OpAdd, 0, 0, 1), two(api.OpAdd, 0, 0, 0)}, ret(0)},
@@ -146,6 +150,29 @@ func TestTheorem(t *testing.T) { // C2
 	}
 	if more < 50 {
 		t.Error("little was known", more)
+	}
+}
+
+func TestNewMemory(t *testing.T) { // R3
+	for seed := range 60 {
+		u := samples.Unit(seed)
+		d, _ := fold.Fold(u)
+		for _, f := range d.Flows {
+			for _, b := range f.Blocks {
+				for _, x := range b.Ins {
+					for i := range x.Args {
+						x.Args[i] = -1
+					}
+				}
+				clear(b.Ins)
+			}
+			clear(f.Blocks)
+		}
+		clear(d.Arrays)
+		clear(d.Flows)
+		if !reflect.DeepEqual(u, samples.Unit(seed)) {
+			t.Error(seed, "shared")
+		}
 	}
 }
 

@@ -119,9 +119,9 @@ func TestEachInstruction(t *testing.T) { // V3
 			}
 		}
 	}
-	for _, op := range []string{"seqz x10, x5", "snez x10, x5", "mv x10, x5", "addi x10, x5, -2047", "addi x10, x5, 2047", "seqz x0, x5", "addi x0, x5, 1", "li x0, 4", "seqz x10, x0", "snez x10, x0", "mv x10, x0", "addi x10, x0, -3"} {
+	for _, op := range []string{"seqz x10, x5", "snez x10, x5", "mv x10, x5", "addi x10, x5, -2047", "addi x10, x5, 2047", "seqz x0, x5", "addi x0, x5, 1", "li x0, 4", "seqz x10, x0", "snez x10, x0", "mv x10, x0", "addi x10, x0, -3", "add x0, x5, x5; mv x10, x0", "li x0, 7; add x10, x0, x5", "la x0, w; seqz x10, x0", "addi x0, x0, 9; ld x0, -8(x2); sd x0, -8(x2); ld x10, -8(x2)", "li x0, 5; bne x0, x0, z; li x10, 6; z: "} {
 		for _, a := range numbers {
-			both(t, op, get(t, "li x5, "+strconv.Itoa(a)+"; "+op+"; li x17, 3; ecall"), nil, 100)
+			both(t, op, get(t, ".array w 2; li x5, "+strconv.Itoa(a)+"; "+op+"; li x17, 3; ecall"), nil, 100)
 		}
 	}
 	for _, op := range []string{"beq", "bne", "blt", "bge"} {

@@ -31,7 +31,8 @@ func TestLines(t *testing.T) { // Z1
 	prog := "int main() { print(6 * 7); }"
 	c, _, _ := compile.Compile(prog+"\n", 1)
 	c0, _, _ := compile.Compile(prog+"\n", 0)
-	n, n0 := strconv.Itoa(len(c.Lines)), strconv.Itoa(len(c0.Lines))
+	c2, _, _ := compile.Compile(prog+"\n", 2)
+	n, n0, n2 := strconv.Itoa(len(c.Lines)), strconv.Itoa(len(c0.Lines)), strconv.Itoa(len(c2.Lines))
 	r := mach.Run(c, nil, 1000)
 	steps := strconv.Itoa(r.Steps)
 	p, _ := lift.Lift(c)
@@ -44,6 +45,8 @@ func TestLines(t *testing.T) { // Z1
 		{"+" + prog + "\ncompile\nrun 100", n + "\n1 0 " + steps + " 42\n"},
 		{"+" + prog + "\nlevel 0\ncompile\nlevel 3\nlevel -1\nlevel 1\ncompile\nlevel\nlevel 1 1\nlevel x", n0 + "\nerror 1\nerror 1\n" + n + "\nodd\nodd\nodd\n"},
 		{"+" + prog + "\nprint\ncheck\neval 9\neval 100\neval 0\neval -1\neval 200000\neval 200001\neval\neval 1 1\neval a", "3\nok\n1 0 4 42\n1 0 4 42\n0 0 0\nerror 1\n1 0 4 42\nerror 1\nodd\nodd\nodd\n"},
+		{"level 2\n+" + prog + "\ncompile\nlevel -2\nlevel 999999999999999999\ncompile", n2 + "\nerror 1\nerror 1\n" + n2 + "\n"},
+		{"+int f() { int x; } int main() { int y; y = 1; if (y) { y = 2; } else { x = 3; } }\ncheck\ncompile", "error 51 10\nerror 51 10\n"},
 		{"print\ncheck\ncompile\neval 5\nassemble\nblocks\nrun 5\nrun 200001\nrun -1\nrun 0", "0\nerror 54 1\nerror 54 1\n0 0 0\n0\n0 0\n6 0 0\nerror 1\nerror 1\n6 0 0\n"},
 		{"+int main() {\n+", ""}, {"+int main() {\n+\nprint\ncheck\ncompile\neval 5\neval 200001", "error 40 3\nerror 40 3\nerror 40 3\nerror 40 3\nerror 40 3\n"},
 		{"+int main() {\n+$\nprint", "error 20 2\n"}, {"+int a[0];\nprint\neval -5", "error 41 1\nerror 41 1\n"}, {"+int main() { x = 1; }\nprint\ncheck\ncompile\neval 9", "3\nerror 51 2\nerror 51 2\n0 0 0\n"},

@@ -98,6 +98,9 @@ func TestRun(t *testing.T) { // M2
 		{"j m; f: ; li x17, 1; ecall; ret; m: ; jal f", nil, run(6, 0, 5, 0)},
 		{"li x1, 8; ret; ret", nil, run(6, 0, 2)}, {"j a; jal a; li x10, 3; li x17, 3; ecall; a: ; li x1, 8; ret", nil, run(1, 3, 6)}, {"j a; jal a; a: ; li x1, 9; ret", nil, run(6, 0, 3)}, {"j a; jal a; a: ; li x1, -8; ret", nil, run(6, 0, 3)}, {"j a; jal a; a: ; li x1, 400; ret", nil, run(6, 0, 3)}, {"j a; jal a; a: ; li x1, 4; ret", nil, run(6, 0, 3)},
 		{"li x5, -1; blt x5, x0, a; ecall; a: ; bge x5, x0, b; bge x0, x5, c; ecall; c: ; beq x5, x0, b; beq x5, x5, d; b: ; ecall; d: ; bne x5, x5, b; bne x5, x0, e; ecall; e: ; li x10, 1" + exit, nil, run(1, 1, 11)},
+		{"li x5, 3; snez x6, x5; snez x7, x0; seqz x8, x5; seqz x9, x0; li x10, 1000; mul x10, x10, x6; li x5, 100; mul x7, x7, x5; add x10, x10, x7; li x5, 10; mul x8, x8, x5; add x10, x10, x8; add x10, x10, x9" + exit, nil, run(1, 1001, 16)},
+		{"li x5, 4; li x6, 4; blt x5, x6, a; bge x5, x6, b; a: ; ecall; b: ; bne x5, x6, a; beq x5, x6, c; ecall; c: ; li x10, 2" + exit, nil, run(1, 2, 9)},
+		{"ld x5, 0(x2); li x10, 1" + exit, nil, run(6, 0, 1)}, {"sd x5, 0(x2); li x10, 1" + exit, nil, run(6, 0, 1)}, {"ret; li x10, 1" + exit, nil, run(6, 0, 1)}, {"ecall; li x10, 1" + exit, nil, run(6, 0, 1)}, {"li x17, 4; li x10, 1; ecall; li x10, 1" + exit, nil, run(6, 0, 3)}, {"li x17, 7; ecall; li x10, 1" + exit, nil, run(6, 0, 2)}, {"li x17, 5; ecall; li x10, 1" + exit, nil, run(5, 0, 2)}, {"li x17, 3; ecall; ecall", nil, run(1, 0, 2)}, {"li x17, 4; li x10, 3; ecall; ecall", nil, run(3, 0, 3)},
 		{"ecall_:; li x5, 3; a: ; addi x5, x5, -1; bne x5, x0, a; mv x10, x5" + exit, nil, run(1, 0, 10)},
 		{"li x17, 9223372036854775807; addi x17, x17, 1; li x5, -9223372036854775808; sub x17, x17, x5; addi x17, x17, 3; ecall", nil, run(1, 0, 6)},
 	} {

@@ -62,6 +62,7 @@ func TestWrong(t *testing.T) { // P1, wrong inputs
 	}
 	for text, want := range map[string]int{
 		"int main() {": 1, "int main() {\n": 2, "int f() { }\nint a\n[2];\n\n": 3, "int f(int a,\n)": 2, "int f() { x = 1;\nint\nx;": 2, "int f() {\nif (1)\nx = 1;\n}": 3, "int f() { f() \n+ 1;": 2, "\n\n;": 3, "int x[\nx\n]": 2, "int f() { x = 1\n1\n;": 2, "int f() { }\n\n}\n": 3, "int f() { x = 1 +\n\n// end": 3,
+		"int f() {\n;\n}": 2, "int f() {\nx\n;\n}": 3, "int f() {\n{\n}\n}": 2, "int f() {\nx\n}\n}": 3, "int f() { return\n;\n}": 2, "int f() {\nif (1)\n;\n}": 3, "int f() {\nelse\n{ } }": 2, "int f() { print(1)\n}": 2, "int f() { break\n}": 2,
 	} {
 		if _, err, line := parse.Parse(text); err != api.ErrParse || line != want {
 			t.Errorf("%q: %d %d", text, err, line)
@@ -71,6 +72,14 @@ func TestWrong(t *testing.T) { // P1, wrong inputs
 		if e, err, line := parse.Expr(text); err != api.ErrParse || line != want || e.Kind != 0 {
 			t.Errorf("%q: %d %d", text, err, line)
 		}
+	}
+}
+
+func TestLowestLevelEverywhere(t *testing.T) { // P1
+	text := "int a[1];\nint f(int x) {\n\tx = x | 1;\n\ta[x | 2] = x | 3;\n\tif (x | 4) {\n\t}\n\twhile (x | 5) {\n\t}\n\tprint(x | 6);\n\ttrap(x | 7);\n\tf(x | 8);\n\tx = f(x | 9) + a[x | 10] * (x | 11);\n\treturn x | 12;\n}\n"
+	p, err, line := parse.Parse(text)
+	if got, _ := tree.Print(p); got != text || err != api.OK || line != 0 {
+		t.Errorf("%q %d %d", got, err, line)
 	}
 }
 

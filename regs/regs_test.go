@@ -158,6 +158,13 @@ func TestWrong(t *testing.T) { // G1, G2
 			t.Error(i, a)
 		}
 	}
+	// An end's A is a place, unless it is a jump's.
+	for kind, want := range []int{1, 1, 0, 0, 0, 1} {
+		f := api.Flow{Values: 1, Blocks: []api.Block{block(api.Term{Kind: kind, A: 1})}}
+		if a := regs.Alloc(f, 3); len(a) != want || regs.Fits(f, []int{0}) != (want == 1) {
+			t.Error(kind, a)
+		}
+	}
 	for _, n := range []int{-1, 33, 1 << 62, -1 << 63} {
 		if len(regs.Alloc(ok, n)) != 0 {
 			t.Error(n)

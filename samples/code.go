@@ -15,7 +15,7 @@ func (s *Source) register() int {
 	return few[s.Below(len(few))]
 }
 
-// Code is code of the machine that may be, by a number; it behaves badly as often as not.
+// Code is code of the machine that may be, by a number; it behaves badly now and then.
 func Code(seed int) api.Code {
 	s := New(seed)
 	var c api.Code
@@ -59,7 +59,20 @@ func (s *Source) idiom(arrays []api.Array, labels int) []api.Line {
 	case 6, 7:
 		return []api.Line{li(s.register(), s.Number()-s.Below(3))}
 	}
-	return []api.Line{{In: s.Instr(arrays, labels)}}
+	in := s.Instr(arrays, labels)
+	for n := s.Below(12); n > 0 && rash(in); n-- {
+		in = s.Instr(arrays, labels)
+	}
+	return []api.Line{{In: in}}
+}
+
+// rash tells whether an instruction is apt to end in a fault.
+func rash(in api.Instr) bool {
+	switch in.Op {
+	case api.InLd, api.InSd, api.InRet, api.InCall:
+		return true
+	}
+	return in.D == 2
 }
 
 // Instr is any instruction of names that there are.

@@ -22,7 +22,7 @@ func TestNameAndWord(t *testing.T) { // S1
 			t.Error(w)
 		}
 	}
-	for _, s := range []string{"a", "Z", "_", "a0", "_9", "zZ_09", "int1", "Int", strings.Repeat("a", 20)} {
+	for _, s := range []string{"a", "z", "A", "Z", "_", "aAzZ_09", "a0", "_9", "zZ_09", "int1", "Int", strings.Repeat("a", 20)} {
 		if !scan.Name(s) || scan.Word(s) {
 			t.Error(s)
 		}

@@ -125,6 +125,32 @@ func TestRight(t *testing.T) { // T2
 	}
 }
 
+func TestDeep(t *testing.T) { // T2
+	n := num(1)
+	for i, wrap := range []func(s) s{
+		func(x s) s { return s{Kind: api.StmtIf, Args: []e{n}, Then: []s{x}} },
+		func(x s) s { return s{Kind: api.StmtIf, Args: []e{n}, Else: []s{x}} },
+		func(x s) s { return s{Kind: api.StmtWhile, Args: []e{n}, Then: []s{st(api.StmtBreak), x}} },
+	} {
+		x := st(api.StmtBreak)
+		for deep := 1; deep < 60; deep++ {
+			if tree.Right(prog(x)) != (deep <= 40) {
+				t.Error(i, deep)
+			}
+			x = wrap(x)
+		}
+	}
+	for i, wrap := range []func(e) e{func(x e) e { return one(api.OpNot, x) }, func(x e) e { return two(api.OpSub, x, n) }, func(x e) e { return two(api.OpSub, n, x) }, func(x e) e { return call("f", n, n, x) }, func(x e) e { return at("a", x) }} {
+		x := read()
+		for deep := 1; deep < 60; deep++ {
+			if tree.RightExpr(x) != (deep <= 40) || tree.Right(prog(st(api.StmtPrint, x))) != (deep <= 40) {
+				t.Error(i, deep)
+			}
+			x = wrap(x)
+		}
+	}
+}
+
 func TestRightHeads(t *testing.T) { // T2
 	fn := func(f api.Func) api.Prog { return api.Prog{Funcs: []api.Func{{Name: "main"}, f}} }
 	for i, p := range []api.Prog{{}, {Arrays: []api.Array{{Name: "a", Size: 1}, {Name: "a", Size: 1 << 20}}}, fn(api.Func{Name: "main", Params: []string{"a", "a", "b", "c", "d", "e"}, Locals: strings.Fields("a b c d e f g h")})} {
