@@ -4,25 +4,28 @@ package words
 // Memory keeps words in pages, of which there are those that were written into: arrays may have far more words than a run ever touches.
 type Memory map[int]*page
 
-type page [512]int
+// size is how many words a page has.
+const size = 512
+
+type page [size]int
 
 // Get is the word of a number from 0 on.
 func (m Memory) Get(at int) int {
-	p := m[at/len(page{})]
+	p := m[at/size]
 	if p == nil {
 		return 0
 	}
-	return p[at%len(page{})]
+	return p[at%size]
 }
 
 // Put changes it.
 func (m Memory) Put(at, v int) {
-	p := m[at/len(page{})]
+	p := m[at/size]
 	if p == nil {
 		p = &page{}
-		m[at/len(page{})] = p
+		m[at/size] = p
 	}
-	p[at%len(page{})] = v
+	p[at%size] = v
 }
 
 // Tape is what may be read, and what was told.
